@@ -4,13 +4,13 @@ import (
 	"bytes"
 	"fmt"
 	"math"
-	"math/rand"
 	"reflect"
 	"slices"
 	"testing"
 
 	"tierline/api"
 	"tierline/code"
+	"tierline/drawn"
 )
 
 // TestEncode (P1.4): each byte at its place.
@@ -71,10 +71,10 @@ func TestEncodeRefuses(t *testing.T) {
 
 // TestRoundTrip (P1.4, P1.5): what is encoded is decoded as it was, for the greatest program and drawn ones.
 func TestRoundTrip(t *testing.T) {
-	d := rand.New(rand.NewSource(2))
-	l := []api.Program{greatest()}
+	d := drawn.Die(2)
+	l := []api.Program{drawn.Greatest()}
 	for range 300 {
-		l = append(l, draw(d))
+		l = append(l, drawn.Program(&d))
 	}
 	for _, p := range l {
 		before := fmt.Sprint(p)
@@ -91,8 +91,8 @@ func TestRoundTrip(t *testing.T) {
 
 // TestShortAndMore (P1.5): each beginning of a program's bytes is ErrShort; with more behind them it is ErrForm.
 func TestShortAndMore(t *testing.T) {
-	d := rand.New(rand.NewSource(3))
-	for _, p := range []api.Program{greatest(), alike(1), draw(d), draw(d), draw(d)} {
+	d := drawn.Die(3)
+	for _, p := range []api.Program{drawn.Greatest(), alike(1), drawn.Program(&d), drawn.Program(&d), drawn.Program(&d)} {
 		b := encoded(t, p)
 		for n := range b {
 			wantDecode(t, b[:n], api.ErrShort)
@@ -160,17 +160,17 @@ func TestDecodeRefuses(t *testing.T) {
 
 // TestOneForm (P1.4, P1.5): bytes that look drawn, or are those of a program but for some, never panic; what is decoded has just these bytes.
 func TestOneForm(t *testing.T) {
-	d := rand.New(rand.NewSource(4))
+	d := drawn.Die(4)
 	right := 0
 	for i := range 5000 {
-		l := make([]byte, d.Intn(60))
+		l := make([]byte, d.Below(60))
 		for j := range l {
-			l[j] = byte(d.Intn(20))
+			l[j] = byte(d.Below(20))
 		}
 		if i%2 == 0 {
-			l = encoded(t, draw(d))
-			for range d.Intn(3) {
-				l[d.Intn(len(l))] = byte(d.Intn(256))
+			l = encoded(t, drawn.Program(&d))
+			for range d.Below(3) {
+				l[d.Below(len(l))] = byte(d.Below(256))
 			}
 		}
 		before := slices.Clone(l)
@@ -193,7 +193,7 @@ func TestOneForm(t *testing.T) {
 
 // TestNewMemory: no answer shares memory with what was handed in, with another answer, or within itself, spare room neither.
 func TestNewMemory(t *testing.T) {
-	p := greatest()
+	p := drawn.Greatest()
 	b := encoded(t, p)
 	want := slices.Clone(b)
 	q, _ := code.Decode(b)

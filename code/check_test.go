@@ -3,12 +3,12 @@ package code_test
 import (
 	"fmt"
 	"math"
-	"math/rand"
 	"reflect"
 	"testing"
 
 	"tierline/api"
 	"tierline/code"
+	"tierline/drawn"
 )
 
 // having: for each op what it has (P1.1), by letters: d, a, b: registers; n: a number; t: a target; f: a function.
@@ -90,7 +90,7 @@ func TestFuncs(t *testing.T) {
 		wantCheck(t, fmt.Sprint(n, " functions"), alike(n), want)
 	}
 	wantCheck(t, "no functions, not nil", api.Program{Funcs: []api.Func{}}, api.ErrSize)
-	wantCheck(t, "greatest", greatest(), api.OK)
+	wantCheck(t, "greatest", drawn.Greatest(), api.OK)
 }
 
 // TestRegsAndParams (P1.3): their bounds.
@@ -149,9 +149,9 @@ func TestOwnBounds(t *testing.T) {
 
 // TestCheckDrawn (P1.3): well shaped programs are, and they stay as they were.
 func TestCheckDrawn(t *testing.T) {
-	d := rand.New(rand.NewSource(1))
+	d := drawn.Die(1)
 	for range 300 {
-		p := draw(d)
+		p := drawn.Program(&d)
 		before := fmt.Sprint(p)
 		wantCheck(t, before, p, api.OK)
 		if fmt.Sprint(p) != before {

@@ -1,7 +1,6 @@
 package code_test
 
 import (
-	"math/rand"
 	"testing"
 
 	"tierline/api"
@@ -46,55 +45,6 @@ func alike(n int) api.Program {
 		p.Funcs = append(p.Funcs, api.Func{Regs: 1, Code: repeat(1)})
 	}
 	return p
-}
-
-// greatest: a program at all limits; its parameters, registers and places are as many as may be.
-func greatest() api.Program {
-	p := alike(api.MaxFuncs)
-	for i := range p.Funcs {
-		p.Funcs[i] = api.Func{Params: api.MaxParams, Regs: api.MaxRegs, Code: repeat(api.MaxCode)}
-		p.Funcs[i].Code[0] = api.Instr{Op: api.Call, Dst: api.MaxRegs - 1, A: api.MaxRegs - 1, B: api.MaxRegs - 1, Imm: api.MaxFuncs - 1}
-		p.Funcs[i].Code[1] = api.Instr{Op: api.If, A: api.MaxRegs - 1, Imm: api.MaxCode - 1}
-	}
-	return p
-}
-
-// draw: a well shaped program that looks drawn, with all ops.
-func draw(d *rand.Rand) api.Program {
-	p := alike(1 + d.Intn(api.MaxFuncs))
-	for i := range p.Funcs {
-		f := api.Func{Regs: 1 + d.Intn(api.MaxRegs), Code: make([]api.Instr, 1+d.Intn(api.MaxCode))}
-		f.Params = d.Intn(1 + min(f.Regs, api.MaxParams))
-		for j := range f.Code {
-			f.Code[j] = drawInstr(d, f.Regs, len(f.Code), len(p.Funcs))
-		}
-		p.Funcs[i] = f
-	}
-	return p
-}
-
-func drawInstr(d *rand.Rand, regs, places, funcs int) api.Instr {
-	x := api.Instr{Op: 1 + d.Intn(api.Ret)}
-	dst, a, b := d.Intn(regs), d.Intn(regs), d.Intn(regs)
-	switch {
-	case x.Op == api.Set:
-		x.Dst, x.Imm = dst, int(d.Uint64())
-	case x.Op <= api.Eq:
-		x.Dst, x.A, x.B = dst, a, b
-	case x.Op == api.Load || x.Op == api.Host:
-		x.Dst, x.A = dst, a
-	case x.Op == api.Store:
-		x.A, x.B = a, b
-	case x.Op == api.Jump:
-		x.Imm = d.Intn(places)
-	case x.Op == api.If:
-		x.A, x.Imm = a, d.Intn(places)
-	case x.Op == api.Call:
-		x.Dst, x.A, x.B, x.Imm = dst, a, b, d.Intn(funcs)
-	default:
-		x.A = a
-	}
-	return x
 }
 
 // encoded: the bytes of a program that must have some.

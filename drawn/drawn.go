@@ -1,0 +1,75 @@
+// Package drawn: programs that look drawn, for the tests of the layers. They are the same each time, as they hang on what the die is at the beginning alone.
+package drawn
+
+import (
+	"tierline/api"
+	"tierline/ops"
+)
+
+// Die: numbers that look drawn.
+type Die uint64
+
+// Bits: 64 of them. What the die is steps on by a fixed rule, and is stirred, as its low bits repeat soon.
+func (d *Die) Bits() uint64 {
+	*d = *d*6364136223846793005 + 1442695040888963407
+	x := uint64(*d)
+	x = (x ^ x>>32) * 0x9e3779b97f4a7c15
+	return x ^ x>>29
+}
+
+// Below: a number from 0 to most - 1 (most is above 0).
+func (d *Die) Below(most int) int { return int(d.Bits() % uint64(most)) }
+
+// Program that is well shaped, within all limits and with all ops.
+func Program(d *Die) api.Program {
+	funcs := 1 + d.Below(api.MaxFuncs)
+	var p api.Program
+	for range funcs {
+		f := api.Func{Regs: 1 + d.Below(api.MaxRegs), Code: make([]api.Instr, 1+d.Below(api.MaxCode))}
+		f.Params = d.Below(1 + min(f.Regs, api.MaxParams))
+		for i := range f.Code {
+			f.Code[i] = Instr(d, f.Regs, len(f.Code), funcs)
+		}
+		p.Funcs = append(p.Funcs, f)
+	}
+	return p
+}
+
+// Instr that is right in a function of so many registers and places, in a program of so many functions.
+func Instr(d *Die, regs, places, funcs int) api.Instr {
+	x := api.Instr{Op: 1 + d.Below(api.Ret)}
+	has := ops.Has(x.Op)
+	if has&ops.Dst != 0 {
+		x.Dst = d.Below(regs)
+	}
+	if has&ops.A != 0 {
+		x.A = d.Below(regs)
+	}
+	if has&ops.B != 0 {
+		x.B = d.Below(regs)
+	}
+	switch {
+	case has&ops.Number != 0:
+		x.Imm = int(d.Bits()) >> d.Below(64)
+	case has&ops.Target != 0:
+		x.Imm = d.Below(places)
+	case has&ops.Function != 0:
+		x.Imm = d.Below(funcs)
+	}
+	return x
+}
+
+// Greatest: a program at all limits, whose parameters, registers and places are as many as may be.
+func Greatest() api.Program {
+	var p api.Program
+	for range api.MaxFuncs {
+		f := api.Func{Params: api.MaxParams, Regs: api.MaxRegs}
+		for range api.MaxCode {
+			f.Code = append(f.Code, api.Instr{Op: api.Ret})
+		}
+		f.Code[0] = api.Instr{Op: api.Call, Dst: api.MaxRegs - 1, A: api.MaxRegs - 1, B: api.MaxRegs - 1, Imm: api.MaxFuncs - 1}
+		f.Code[1] = api.Instr{Op: api.If, A: api.MaxRegs - 1, Imm: api.MaxCode - 1}
+		p.Funcs = append(p.Funcs, f)
+	}
+	return p
+}

@@ -35,7 +35,39 @@ func Program(d *Die) api.Program {
 	return p
 }
 
-// Instr that is right in a function of so many registers and places, in a program of so many functions.
+// Right: a program that reads nothing that was not set, as each function sets all its registers first, and no way goes on behind its last instruction.
+func Right(d *Die) api.Program {
+	funcs := 1 + d.Below(api.MaxFuncs)
+	var p api.Program
+	for range funcs {
+		p.Funcs = append(p.Funcs, rightFunc(d, funcs))
+	}
+	return p
+}
+
+func rightFunc(d *Die, funcs int) api.Func {
+	f := api.Func{Regs: 1 + d.Below(api.MaxRegs)}
+	f.Params = d.Below(1 + min(f.Regs, api.MaxParams))
+	for r := f.Params; r < f.Regs; r++ {
+		f.Code = append(f.Code, api.Instr{Op: api.Set, Dst: r, Imm: d.Below(9) - 2})
+	}
+	places := len(f.Code) + 1 + d.Below(api.MaxCode-len(f.Code))
+	for len(f.Code) < places-1 {
+		f.Code = append(f.Code, Instr(d, f.Regs, places, funcs))
+	}
+	f.Code = append(f.Code, last(d, f.Regs, places))
+	return f
+}
+
+// last: an instruction behind which no way goes on.
+func last(d *Die, regs, places int) api.Instr {
+	if d.Below(2) == 0 {
+		return api.Instr{Op: api.Jump, Imm: d.Below(places)}
+	}
+	return api.Instr{Op: api.Ret, A: d.Below(regs)}
+}
+
+// Instr that is well shaped in a function of so many registers and places, in a program of so many functions.
 func Instr(d *Die, regs, places, funcs int) api.Instr {
 	x := api.Instr{Op: 1 + d.Below(api.Ret)}
 	has := ops.Has(x.Op)

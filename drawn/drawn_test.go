@@ -7,21 +7,25 @@ import (
 	"tierline/api"
 	"tierline/code"
 	"tierline/drawn"
+	"tierline/proof"
 )
 
-// TestProgram: what is drawn is well shaped, has each op, and is the same each time.
-func TestProgram(t *testing.T) {
+// wantDrawn: what is drawn passes the check, has each op and functions at the limits, and is the same each time.
+func wantDrawn(t *testing.T, draw func(*drawn.Die) api.Program, check func(api.Program) api.Errno) {
+	t.Helper()
 	var seen [api.Ret + 1]int
+	places, regs := 0, 0
 	d, again := drawn.Die(1), drawn.Die(1)
 	for range 300 {
-		p := drawn.Program(&d)
-		if e := code.Check(p); e != api.OK {
-			t.Fatalf("%v is not well shaped: %v", p, e)
+		p := draw(&d)
+		if e := check(p); e != api.OK {
+			t.Fatalf("%v is refused: %v", p, e)
 		}
-		if q := drawn.Program(&again); !reflect.DeepEqual(p, q) {
+		if q := draw(&again); !reflect.DeepEqual(p, q) {
 			t.Fatalf("drawn anew, %v is %v", p, q)
 		}
 		for _, f := range p.Funcs {
+			places, regs = max(places, len(f.Code)), max(regs, f.Regs)
 			for _, x := range f.Code {
 				seen[x.Op]++
 			}
@@ -32,7 +36,16 @@ func TestProgram(t *testing.T) {
 			t.Errorf("op %d is drawn only %d times", op, seen[op])
 		}
 	}
+	if places != api.MaxCode || regs != api.MaxRegs {
+		t.Errorf("at most %d places and %d registers are drawn", places, regs)
+	}
 }
+
+// TestProgram: what is drawn is well shaped.
+func TestProgram(t *testing.T) { wantDrawn(t, drawn.Program, code.Check) }
+
+// TestRight: what is drawn is right.
+func TestRight(t *testing.T) { wantDrawn(t, drawn.Right, proof.Check) }
 
 // TestGreatest: it is well shaped.
 func TestGreatest(t *testing.T) {

@@ -105,3 +105,18 @@ func Greatest() api.Program {
 	}
 	return p
 }
+
+// Wrong: programs that are not right, one for each error.
+func Wrong() []api.Program {
+	ret := api.Instr{Op: api.Ret}
+	one := func(params, regs int, l ...api.Instr) api.Program {
+		return api.Program{Funcs: []api.Func{{Params: params, Regs: regs, Code: l}}}
+	}
+	return []api.Program{
+		{},                                // ErrSize
+		one(0, 0, ret),                    // ErrRange
+		one(1, 1, api.Instr{Op: 99}, ret), // ErrKind
+		one(0, 1, ret),                    // ErrUnset
+		one(1, 1, api.Instr{Op: api.Set}), // ErrEnd
+	}
+}

@@ -54,6 +54,20 @@ func TestGreatest(t *testing.T) {
 	}
 }
 
+// TestWrong: each of them is refused with an error of its own.
+func TestWrong(t *testing.T) {
+	want := []api.Errno{api.ErrSize, api.ErrRange, api.ErrKind, api.ErrUnset, api.ErrEnd}
+	l := drawn.Wrong()
+	if len(l) != len(want) {
+		t.Fatalf("%d programs, want %d", len(l), len(want))
+	}
+	for i, p := range l {
+		if e := proof.Check(p); e != want[i] {
+			t.Errorf("program %d is %v, want %v", i, e, want[i])
+		}
+	}
+}
+
 // TestBelow: each number below the bound comes, and no other.
 func TestBelow(t *testing.T) {
 	var seen [7]int

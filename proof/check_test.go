@@ -10,11 +10,12 @@ import (
 	"tierline/code"
 	"tierline/drawn"
 	"tierline/proof"
+	"tierline/told"
 )
 
 func wantCheck(t *testing.T, s string, want api.Errno) {
 	t.Helper()
-	if e := proof.Check(read(t, s)); e != want {
+	if e := proof.Check(told.Text(t, s)); e != want {
 		t.Errorf("Check(%q): %v, want %v", s, e, want)
 	}
 }
@@ -180,13 +181,13 @@ func walk(d *drawn.Die, p api.Program, f api.Func) api.Errno {
 			return api.ErrEnd
 		}
 		x := f.Code[pc]
-		if slices.ContainsFunc(readsOf(p, x), func(r int) bool { return !set[r] }) {
+		if slices.ContainsFunc(told.ReadBy(p, x), func(r int) bool { return !set[r] }) {
 			return api.ErrUnset
 		}
 		for r := range f.Regs {
-			set[r] = set[r] || sets(x, r)
+			set[r] = set[r] || told.SetBy(x, r)
 		}
-		next := behind(f, pc)
+		next := told.Behind(f, pc)
 		if len(next) == 0 {
 			break
 		}

@@ -8,18 +8,8 @@ import (
 	"tierline/code"
 	"tierline/drawn"
 	"tierline/proof"
-	"tierline/sheet"
+	"tierline/told"
 )
-
-// read: the program of a text that must be one's.
-func read(t *testing.T, s string) api.Program {
-	t.Helper()
-	p, _, e := sheet.Read(s)
-	if e != api.OK {
-		t.Fatalf("Read(%q): %v, want OK", s, e)
-	}
-	return p
-}
 
 // shaken: a right program in which some instructions are others, so that it may be right no more.
 func shaken(d *drawn.Die) api.Program {
@@ -29,37 +19,6 @@ func shaken(d *drawn.Die) api.Program {
 		f.Code[d.Below(len(f.Code))] = drawn.Instr(d, f.Regs, len(f.Code), len(p.Funcs))
 	}
 	return p
-}
-
-// readsOf an instruction, told anew by its op, as registers.
-func readsOf(p api.Program, x api.Instr) []int {
-	switch x.Op {
-	case api.Set, api.Jump:
-		return nil
-	case api.Load, api.Host, api.If, api.Ret:
-		return []int{x.A}
-	case api.Call:
-		return []int{x.A, x.B}[:p.Funcs[x.Imm].Params]
-	}
-	return []int{x.A, x.B}
-}
-
-// sets: does an instruction set that register?
-func sets(x api.Instr, reg int) bool {
-	return !slices.Contains([]int{api.Store, api.Jump, api.If, api.Ret}, x.Op) && x.Dst == reg
-}
-
-// behind: the places to which ways go from one.
-func behind(f api.Func, pc int) []int {
-	switch f.Code[pc].Op {
-	case api.Ret:
-		return nil
-	case api.Jump:
-		return []int{f.Code[pc].Imm}
-	case api.If:
-		return []int{f.Code[pc].Imm, pc + 1}
-	}
-	return []int{pc + 1}
 }
 
 // without: for each place, and the function's end, whether some way leads to it on which a register is not set; -1: whether there is any way at all.
@@ -76,8 +35,8 @@ func without(f api.Func, reg int) []bool {
 			continue
 		}
 		seen[pc] = true
-		if pc < len(f.Code) && !sets(f.Code[pc], reg) {
-			work = append(work, behind(f, pc)...)
+		if pc < len(f.Code) && !told.SetBy(f.Code[pc], reg) {
+			work = append(work, told.Behind(f, pc)...)
 		}
 	}
 	return seen
@@ -107,7 +66,7 @@ func sureOf(f api.Func) []int {
 func rightOf(p api.Program) api.Errno {
 	for _, f := range p.Funcs {
 		for pc, x := range f.Code {
-			for _, r := range readsOf(p, x) {
+			for _, r := range told.ReadBy(p, x) {
 				if without(f, r)[pc] {
 					return api.ErrUnset
 				}

@@ -8,6 +8,7 @@ import (
 	"tierline/api"
 	"tierline/drawn"
 	"tierline/proof"
+	"tierline/told"
 )
 
 // TestReads (P3.4): what each op reads and sets, at registers that all differ, whether it is reached or not.
@@ -52,7 +53,7 @@ func TestReads(t *testing.T) {
 		{"call r0 1 r11 r11", 0, 1},
 	} {
 		for pc, s := range []string{"func 2 12\n" + c.line + "\n" + rest, "func 2 12\nret r0\n" + c.line + "\n" + rest} {
-			if r, w, e := proof.Reads(read(t, s), 0, pc); r != c.read || w != c.set || e != api.OK {
+			if r, w, e := proof.Reads(told.Text(t, s), 0, pc); r != c.read || w != c.set || e != api.OK {
 				t.Errorf("Reads of %q at %d: %d %d %v, want %d %d", c.line, pc, r, w, e, c.read, c.set)
 			}
 		}
@@ -64,11 +65,11 @@ func wantReads(t *testing.T, p api.Program, fn, pc int) {
 	t.Helper()
 	x := p.Funcs[fn].Code[pc]
 	read, set := 0, 0
-	for _, r := range readsOf(p, x) {
+	for _, r := range told.ReadBy(p, x) {
 		read |= 1 << r
 	}
 	for r := range api.MaxRegs {
-		if sets(x, r) {
+		if told.SetBy(x, r) {
 			set |= 1 << r
 		}
 	}
@@ -92,7 +93,7 @@ func TestReadsDrawn(t *testing.T) {
 
 // TestReadsRefuses (P3.4): there is no such function, or no such place of it.
 func TestReadsRefuses(t *testing.T) {
-	p := read(t, "func 1 1\nset r0 1\nset r0 2\nret r0\nfunc 1 1\n"+strings.Repeat("ret r0\n", api.MaxCode))
+	p := told.Text(t, "func 1 1\nset r0 1\nset r0 2\nret r0\nfunc 1 1\n"+strings.Repeat("ret r0\n", api.MaxCode))
 	for _, c := range []struct{ fn, pc int }{
 		{-1, 0}, {2, 0}, {3, 0}, {api.MaxFuncs, 0}, {math.MinInt, 0}, {math.MaxInt, 0}, {1 << 32, 0},
 		{0, -1}, {0, 3}, {0, 4}, {0, api.MaxCode - 1}, {1, api.MaxCode}, {1, -1}, {0, math.MinInt}, {0, math.MaxInt}, {1, 1 << 32},

@@ -10,6 +10,7 @@ import (
 	"tierline/api"
 	"tierline/drawn"
 	"tierline/proof"
+	"tierline/told"
 )
 
 func wantSure(t *testing.T, p api.Program, fn int, want []int) {
@@ -59,7 +60,7 @@ func TestSure(t *testing.T) {
 		{"func 0 2\nset r1 0\n", []int{0}},
 		{"func 1 1\nif r0 0\n", []int{1}},
 	} {
-		wantSure(t, read(t, c.s), 0, c.want)
+		wantSure(t, told.Text(t, c.s), 0, c.want)
 	}
 }
 
@@ -76,7 +77,7 @@ func TestSureLimits(t *testing.T) {
 	for r := range api.MaxRegs {
 		want[r] = 1<<r - 1
 	}
-	p := read(t, strings.Repeat(all(api.MaxCode), api.MaxFuncs))
+	p := told.Text(t, strings.Repeat(all(api.MaxCode), api.MaxFuncs))
 	for fn := range api.MaxFuncs {
 		wantSure(t, p, fn, want)
 	}
@@ -86,12 +87,12 @@ func TestSureLimits(t *testing.T) {
 	}
 	fallen := slices.Repeat([]int{1}, api.MaxCode)
 	fallen[2] = 3
-	wantSure(t, read(t, back+"jump 38\n"), 0, fallen)
+	wantSure(t, told.Text(t, back+"jump 38\n"), 0, fallen)
 }
 
 // TestSureOfEach (P3.2): the function that is asked for, with its own parameters; one that nobody calls is reached in itself all the same.
 func TestSureOfEach(t *testing.T) {
-	p := read(t, "func 0 1\nset r0 0\nret r0\nfunc 2 3\nret r0\nret r1\nfunc 1 2\nset r1 0\nset r0 0\nret r1\n")
+	p := told.Text(t, "func 0 1\nset r0 0\nret r0\nfunc 2 3\nret r0\nret r1\nfunc 1 2\nset r1 0\nset r0 0\nret r1\n")
 	wantSure(t, p, 0, []int{0, 1})
 	wantSure(t, p, 1, []int{3, -1})
 	wantSure(t, p, 2, []int{1, 3, 3})
@@ -100,7 +101,7 @@ func TestSureOfEach(t *testing.T) {
 // TestSureRefuses (P3.2): there is no such function.
 func TestSureRefuses(t *testing.T) {
 	for n := 1; n <= api.MaxFuncs; n++ {
-		p := read(t, strings.Repeat("func 1 1\nret r0\n", n))
+		p := told.Text(t, strings.Repeat("func 1 1\nret r0\n", n))
 		for _, fn := range []int{-1, n, n + 1, api.MaxFuncs, 1 << 32, math.MinInt, math.MaxInt} {
 			if l, e := proof.Sure(p, fn); len(l) != 0 || e != api.ErrRange {
 				t.Errorf("Sure(%d) of %d functions: %v %v, want ErrRange", fn, n, l, e)

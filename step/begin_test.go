@@ -10,12 +10,13 @@ import (
 	"tierline/drawn"
 	"tierline/proof"
 	"tierline/step"
+	"tierline/told"
 )
 
 // TestBegin (P4.1): the state ahead of a run.
 func TestBegin(t *testing.T) {
-	none := read(t, "func 0 1\nset r0 5\nret r0\nfunc 1 1\nret r0\n")
-	two := read(t, "func 2 12\nret r1\nfunc 0 1\nset r0 0\nret r0\n")
+	none := told.Text(t, "func 0 1\nset r0 5\nret r0\nfunc 1 1\nret r0\n")
+	two := told.Text(t, "func 2 12\nret r1\nfunc 0 1\nset r0 0\nret r0\n")
 	for _, c := range []struct {
 		p             api.Program
 		args, answers []int
@@ -24,7 +25,7 @@ func TestBegin(t *testing.T) {
 		{none, nil, nil, 0},
 		{none, []int{}, []int{}, 1},
 		{none, nil, []int{7}, api.MaxFuel},
-		{read(t, counted), []int{10}, []int{3, 0, 4}, 100},
+		{told.Text(t, counted), []int{10}, []int{3, 0, 4}, 100},
 		{two, []int{math.MinInt, math.MaxInt}, nil, api.MaxFuel - 1},
 		{two, []int{1, 0}, slices.Repeat([]int{math.MinInt}, api.MaxAnswers), 12},
 	} {
@@ -69,7 +70,7 @@ type begins struct {
 
 // TestBeginRefuses (P4.1, P4.6): too few or too many arguments, too many answers, fuel out of its bounds; programs that are not right ahead of all that.
 func TestBeginRefuses(t *testing.T) {
-	p := read(t, counted)
+	p := told.Text(t, counted)
 	for want, l := range refusals() {
 		for _, c := range l {
 			s, e := step.Begin(p, c.args, c.answers, c.fuel)
@@ -93,7 +94,7 @@ func TestBeginRefuses(t *testing.T) {
 func TestArguments(t *testing.T) {
 	for params, text := range []string{"func 0 2\nset r0 1\nret r0\n", "func 1 2\nret r0\n", "func 2 2\nret r0\n"} {
 		for n := range 4 {
-			p := read(t, text+"func 1 1\nret r0\n")
+			p := told.Text(t, text+"func 1 1\nret r0\n")
 			want := api.OK
 			if n != params {
 				want = api.ErrSize

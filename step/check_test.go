@@ -10,6 +10,7 @@ import (
 	"tierline/drawn"
 	"tierline/proof"
 	"tierline/step"
+	"tierline/told"
 )
 
 // wantMayBe: Check, Next and Walk take the state.
@@ -44,7 +45,7 @@ const three = "func 1 2\nset r1 0\ncall r0 1 r0 r1\ncall r1 2 r0 r0\nret r0\nfun
 
 // TestMayBe (P4.2): states that may be, at the limits, too.
 func TestMayBe(t *testing.T) {
-	p := read(t, three)
+	p := told.Text(t, three)
 	one := []api.Frame{{Pc: 1}}
 	for what, s := range map[string]api.State{
 		"running":           {Frames: one, Fuel: 5},
@@ -71,12 +72,12 @@ func TestMayBe(t *testing.T) {
 	} {
 		wantMayBe(t, what, p, s)
 	}
-	wantMayBe(t, "all frames", read(t, endless), deep(api.MaxDepth))
+	wantMayBe(t, "all frames", told.Text(t, endless), deep(api.MaxDepth))
 }
 
 // TestMayNotBe (P4.2): of each kind of state that may not be, the nearest ones.
 func TestMayNotBe(t *testing.T) {
-	p := read(t, three)
+	p := told.Text(t, three)
 	one := []api.Frame{{Pc: 1}}
 	for what, s := range map[string]api.State{
 		"status below 0":        {Status: -1, Frames: one, Fuel: 5},
@@ -118,8 +119,8 @@ func TestMayNotBe(t *testing.T) {
 	} {
 		wantNot(t, what, p, s, api.ErrState)
 	}
-	wantNot(t, "too many frames", read(t, endless), deep(api.MaxDepth+1), api.ErrState)
-	wantNot(t, "far too many frames", read(t, endless), deep(500), api.ErrState)
+	wantNot(t, "too many frames", told.Text(t, endless), deep(api.MaxDepth+1), api.ErrState)
+	wantNot(t, "far too many frames", told.Text(t, endless), deep(500), api.ErrState)
 }
 
 // TestWrongPrograms (P4.2): programs that are not right are refused ahead of the state.

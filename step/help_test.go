@@ -9,7 +9,6 @@ import (
 
 	"tierline/api"
 	"tierline/drawn"
-	"tierline/sheet"
 	"tierline/step"
 )
 
@@ -21,16 +20,6 @@ const endless = "func 1 1\ncall r0 0 r0 r0\nret r0\n"
 
 // edges: numbers at the bounds, and others.
 var edges = []int{math.MinInt, math.MinInt + 1, -1 << 32, -65, -64, -63, -16, -7, -2, -1, 0, 1, 2, 6, 7, 15, 16, 63, 64, 65, 1 << 31, 1 << 32, math.MaxInt - 1, math.MaxInt}
-
-// read: the program of a text that must be one's.
-func read(t *testing.T, s string) api.Program {
-	t.Helper()
-	p, _, e := sheet.Read(s)
-	if e != api.OK {
-		t.Fatalf("Read(%q): %v, want OK", s, e)
-	}
-	return p
-}
 
 // regs of a frame.
 func regs(l ...int) (r [api.MaxRegs]int) {
@@ -136,8 +125,8 @@ type teller struct {
 	left int // steps
 }
 
-// told: the state to which a run comes behind so many steps.
-func told(p api.Program, args, answers []int, fuel, steps int) api.State {
+// toldState: the state to which a run comes behind so many steps.
+func toldState(p api.Program, args, answers []int, fuel, steps int) api.State {
 	r := teller{p: p, s: api.State{Fuel: fuel, Answers: answers}, left: steps}
 	if v, back := r.function(0, args, 1); back {
 		r.s.Status, r.s.Value = api.Done, v

@@ -9,6 +9,7 @@ import (
 	"tierline/api"
 	"tierline/drawn"
 	"tierline/step"
+	"tierline/told"
 )
 
 // running: a state with one frame of the function 0.
@@ -18,7 +19,7 @@ func running(pc, fuel int, l ...int) api.State {
 
 func wantNext(t *testing.T, text string, s, want api.State) {
 	t.Helper()
-	w, e := step.Next(read(t, text), s)
+	w, e := step.Next(told.Text(t, text), s)
 	wantState(t, fmt.Sprintf("Next of %q, %v", text, s), w, e, want)
 }
 
@@ -207,7 +208,7 @@ func TestEmpty(t *testing.T) {
 
 // TestStays (P4.3): a state that is not Running stays.
 func TestStays(t *testing.T) {
-	p := read(t, "func 2 2\nhost r0 r0\nret r0\n")
+	p := told.Text(t, "func 2 2\nhost r0 r0\nret r0\n")
 	for _, status := range []int{api.Empty, api.Zero, api.Outside, api.Deep} {
 		s := running(0, 5, 1, 2)
 		s.Status, s.Events, s.Answers = status, []int{4}, []int{5}
@@ -223,7 +224,7 @@ func TestStays(t *testing.T) {
 
 // TestRunsOut (P4.2, P4.3): from a place that is not reached a step may lead out of the function; there is no step from there.
 func TestRunsOut(t *testing.T) {
-	p := read(t, "func 1 1\nret r0\nset r0 5\n")
+	p := told.Text(t, "func 1 1\nret r0\nset r0 5\n")
 	s := next(t, p, running(1, 3, 1))
 	wantState(t, "Next", s, api.OK, running(2, 2, 5))
 	wantNot(t, "behind the last instruction", p, s, api.ErrState)
@@ -234,7 +235,7 @@ func TestRunsOut(t *testing.T) {
 	w, e := step.Walk(p, running(1, 1, 1), 2)
 	wantRefused(t, "Walk out of the function, and the fuel", w, e, api.ErrState)
 	// Back from a Call that is not reached, and is the last instruction.
-	p = read(t, "func 1 1\nret r0\ncall r0 0 r0 r0\n")
+	p = told.Text(t, "func 1 1\nret r0\ncall r0 0 r0 r0\n")
 	s = running(1, 3, 1)
 	s.Frames = append(s.Frames, api.Frame{Regs: regs(8)})
 	w, e = step.Walk(p, s, 1)
@@ -242,7 +243,7 @@ func TestRunsOut(t *testing.T) {
 	w, e = step.Walk(p, s, 2)
 	wantRefused(t, "Walk back and on", w, e, api.ErrState)
 	// An If that goes to its target stays within.
-	p = read(t, "func 1 1\nret r0\nif r0 0\n")
+	p = told.Text(t, "func 1 1\nret r0\nif r0 0\n")
 	w, e = step.Walk(p, running(1, 3, 6), 2)
 	wantState(t, "Walk to the target", w, e, api.State{Status: api.Done, Value: 6, Fuel: 1})
 }

@@ -9,6 +9,7 @@ import (
 	"tierline/code"
 	"tierline/drawn"
 	"tierline/step"
+	"tierline/told"
 )
 
 // TestRun (P4.6): runs to their ends, one of each status.
@@ -34,10 +35,10 @@ func TestRun(t *testing.T) {
 		{"func 1 3\nif r0 3\nset r0 1\nret r0\nset r1 1\nsub r1 r0 r1\ncall r1 0 r1 r1\nmul r0 r0 r1\nret r0\n", []int{7}, nil, 99,
 			api.State{Status: api.Done, Value: 5040, Fuel: 54}},
 	} {
-		s, e := step.Run(read(t, c.text), c.args, c.answers, c.fuel)
+		s, e := step.Run(told.Text(t, c.text), c.args, c.answers, c.fuel)
 		wantState(t, fmt.Sprintf("Run(%q, %v, %v, %d)", c.text, c.args, c.answers, c.fuel), s, e, c.want)
 	}
-	s, e := step.Run(read(t, endless), []int{6}, nil, 99)
+	s, e := step.Run(told.Text(t, endless), []int{6}, nil, 99)
 	want := api.State{Status: api.Deep, Fuel: 91}
 	for range api.MaxDepth {
 		want.Frames = append(want.Frames, api.Frame{Regs: regs(6)})
@@ -47,7 +48,7 @@ func TestRun(t *testing.T) {
 
 // TestWalk (P4.5): so many steps, or as many as there are.
 func TestWalk(t *testing.T) {
-	p := read(t, counted)
+	p := told.Text(t, counted)
 	s := begin(t, p, []int{10}, nil, 100)
 	want := s
 	for n := range 50 {
@@ -66,7 +67,7 @@ func TestWalk(t *testing.T) {
 
 // TestWalkRefuses (P4.5): a number of steps below 0, whatever the status is.
 func TestWalkRefuses(t *testing.T) {
-	p := read(t, counted)
+	p := told.Text(t, counted)
 	for _, s := range []api.State{begin(t, p, []int{10}, nil, 100), {Status: api.Done, Value: 4}, running(0, 0, 1)} {
 		for _, n := range []int{-1, -2, -1 << 32, math.MinInt} {
 			w, e := step.Walk(p, s, n)
@@ -81,9 +82,9 @@ func wantTold(t *testing.T, p api.Program, args, answers []int, fuel, n int) api
 	what := fmt.Sprint(p, args, answers, fuel, n)
 	s := begin(t, p, args, answers, fuel)
 	w, e := step.Walk(p, s, n)
-	wantState(t, "Walk "+what, w, e, told(p, args, answers, fuel, n))
+	wantState(t, "Walk "+what, w, e, toldState(p, args, answers, fuel, n))
 	r, e := step.Run(p, args, answers, fuel)
-	wantState(t, "Run "+what, r, e, told(p, args, answers, fuel, math.MaxInt))
+	wantState(t, "Run "+what, r, e, toldState(p, args, answers, fuel, math.MaxInt))
 	w, e = step.Walk(p, w, api.MaxFuel+1)
 	wantState(t, "Walk on "+what, w, e, r)
 	return r
@@ -130,7 +131,7 @@ func TestSteps(t *testing.T) {
 
 // TestNewMemory: answers share nothing with what is handed in, nor with each other, and what is handed in keeps its spare room as it was.
 func TestNewMemory(t *testing.T) {
-	p := read(t, "func 2 2\nhost r0 r0\ncall r0 0 r0 r1\nret r0\n")
+	p := told.Text(t, "func 2 2\nhost r0 r0\ncall r0 0 r0 r1\nret r0\n")
 	list := []int{1, 2, 3, 4, 5}
 	frames := []api.Frame{{Pc: 0}, {Fn: 7, Pc: 7}}
 	s := api.State{Frames: frames[:1], Fuel: 9, Events: list[:1], Answers: list[1:3]}
@@ -164,7 +165,7 @@ func TestNewMemory(t *testing.T) {
 
 // TestListsApart: no two lists of one answer share memory, though those that are handed in do.
 func TestListsApart(t *testing.T) {
-	p := read(t, "func 1 1\nhost r0 r0\njump 0\n")
+	p := told.Text(t, "func 1 1\nhost r0 r0\njump 0\n")
 	both := []int{1, 2, 3, 4}
 	s := running(0, 9, 5)
 	s.Events, s.Answers = both, both

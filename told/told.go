@@ -1,0 +1,56 @@
+// Package told: what instructions do with ways and registers, told anew from the document's words, so that the tests of the layers have something to hold these against.
+package told
+
+import (
+	"slices"
+
+	"tierline/api"
+	"tierline/sheet"
+)
+
+// tester: as much of a test as is needed to end it.
+type tester interface {
+	Helper()
+	Fatalf(format string, l ...any)
+}
+
+// Text: the program of a text that must be one's.
+func Text(t tester, s string) api.Program {
+	t.Helper()
+	p, _, e := sheet.Read(s)
+	if e != api.OK {
+		t.Fatalf("Read(%q): %v, want OK", s, e)
+	}
+	return p
+}
+
+// Behind: the places to which ways go from one (P3.1).
+func Behind(f api.Func, pc int) []int {
+	switch f.Code[pc].Op {
+	case api.Ret:
+		return nil
+	case api.Jump:
+		return []int{f.Code[pc].Imm}
+	case api.If:
+		return []int{f.Code[pc].Imm, pc + 1}
+	}
+	return []int{pc + 1}
+}
+
+// ReadBy an instruction (P1.1), as registers.
+func ReadBy(p api.Program, x api.Instr) []int {
+	switch x.Op {
+	case api.Set, api.Jump:
+		return nil
+	case api.Load, api.Host, api.If, api.Ret:
+		return []int{x.A}
+	case api.Call:
+		return []int{x.A, x.B}[:p.Funcs[x.Imm].Params]
+	}
+	return []int{x.A, x.B}
+}
+
+// SetBy: does an instruction set that register (P1.1)?
+func SetBy(x api.Instr, reg int) bool {
+	return !slices.Contains([]int{api.Store, api.Jump, api.If, api.Ret}, x.Op) && x.Dst == reg
+}

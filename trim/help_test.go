@@ -1,0 +1,128 @@
+package trim_test
+
+import (
+	"fmt"
+	"slices"
+
+	"tierline/api"
+	"tierline/drawn"
+	"tierline/told"
+)
+
+// counted adds up the numbers from its argument down; each place is reached.
+const counted = "func 1 3\nset r1 0\nset r2 -1\nif r0 4\nret r1\nadd r1 r1 r0\nadd r0 r0 r2\njump 2\n"
+
+// reach: marks a place, and each one to which ways go from there.
+func reach(f api.Func, pc int, seen []bool) {
+	if seen[pc] {
+		return
+	}
+	seen[pc] = true
+	for _, to := range told.Behind(f, pc) {
+		reach(f, to, seen)
+	}
+}
+
+// whereOf the places of a function, by its words (P5.1): the ones ahead are counted anew for each.
+func whereOf(f api.Func) []int {
+	seen := make([]bool, len(f.Code))
+	reach(f, 0, seen)
+	l := make([]int, len(f.Code))
+	for pc := range l {
+		for ahead := range pc {
+			if seen[ahead] {
+				l[pc]++
+			}
+		}
+		if !seen[pc] {
+			l[pc] = -1
+		}
+	}
+	return l
+}
+
+// calledOf a program, by its words (P5.2): as often as there are functions, each one that is called calls others.
+func calledOf(p api.Program) []bool {
+	l := make([]bool, len(p.Funcs))
+	l[0] = true
+	for range p.Funcs {
+		for fn, f := range p.Funcs {
+			for pc, n := range whereOf(f) {
+				if l[fn] && n >= 0 && f.Code[pc].Op == api.Call {
+					l[f.Code[pc].Imm] = true
+				}
+			}
+		}
+	}
+	return l
+}
+
+// left of a program, by its words (P5.3).
+func left(p api.Program) api.Program {
+	var q api.Program
+	called := calledOf(p)
+	for fn, f := range p.Funcs {
+		if !called[fn] {
+			continue
+		}
+		l := whereOf(f)
+		g := api.Func{Params: f.Params, Regs: f.Regs}
+		for pc, x := range f.Code {
+			if l[pc] < 0 {
+				continue
+			}
+			switch x.Op {
+			case api.Jump, api.If:
+				x.Imm = l[x.Imm]
+			case api.Call:
+				x.Imm = calledAhead(called, x.Imm)
+			}
+			g.Code = append(g.Code, x)
+		}
+		q.Funcs = append(q.Funcs, g)
+	}
+	return q
+}
+
+// calledAhead: how many functions ahead of one are called.
+func calledAhead(called []bool, fn int) int {
+	n := 0
+	for _, c := range called[:fn] {
+		if c {
+			n++
+		}
+	}
+	return n
+}
+
+// same: a list without elements may be nil or not, which a text does not tell.
+func same(a, b any) bool { return fmt.Sprint(a) == fmt.Sprint(b) }
+
+// roomy: a program whose lists have spare room, and that room, which must stay as it is.
+func roomy(p api.Program) (api.Program, func() bool) {
+	mark := api.Instr{Op: 77, Dst: 77, A: 77, B: 77, Imm: 77}
+	funcs := make([]api.Func, len(p.Funcs)+1)
+	for i, f := range p.Funcs {
+		f.Code = append(slices.Clone(f.Code), mark)[:len(f.Code)]
+		funcs[i] = f
+	}
+	funcs[len(p.Funcs)] = api.Func{Params: 77, Regs: 77}
+	return api.Program{Funcs: funcs[:len(p.Funcs)]}, func() bool {
+		for _, f := range funcs[:len(p.Funcs)] {
+			if f.Code[:len(f.Code)+1][len(f.Code)] != mark {
+				return false
+			}
+		}
+		last := funcs[len(p.Funcs)]
+		return last.Params == 77 && last.Regs == 77 && last.Code == nil
+	}
+}
+
+// args of a program that look drawn.
+func args(d *drawn.Die, p api.Program) []int {
+	l := make([]int, p.Funcs[0].Params)
+	for i := range l {
+		l[i] = d.Below(20) - 2
+	}
+	return l
+}

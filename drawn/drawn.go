@@ -2,6 +2,8 @@
 package drawn
 
 import (
+	"slices"
+
 	"tierline/api"
 	"tierline/ops"
 )
@@ -91,6 +93,15 @@ func Instr(d *Die, regs, places, funcs int) api.Instr {
 	return x
 }
 
+// Args of a program.
+func Args(d *Die, p api.Program) []int {
+	l := make([]int, p.Funcs[0].Params)
+	for i := range l {
+		l[i] = d.Below(20) - 2
+	}
+	return l
+}
+
 // Greatest: a program at all limits, whose parameters, registers and places are as many as may be.
 func Greatest() api.Program {
 	var p api.Program
@@ -118,5 +129,25 @@ func Wrong() []api.Program {
 		one(1, 1, api.Instr{Op: 99}, ret), // ErrKind
 		one(0, 1, ret),                    // ErrUnset
 		one(1, 1, api.Instr{Op: api.Set}), // ErrEnd
+	}
+}
+
+// Roomy: a program whose lists have spare room, and a question whether that room is as it was.
+func Roomy(p api.Program) (api.Program, func() bool) {
+	mark := api.Instr{Op: 77, Dst: 77, A: 77, B: 77, Imm: 77}
+	funcs := make([]api.Func, len(p.Funcs)+1)
+	for i, f := range p.Funcs {
+		f.Code = append(slices.Clone(f.Code), mark)[:len(f.Code)]
+		funcs[i] = f
+	}
+	funcs[len(p.Funcs)] = api.Func{Params: 77, Regs: 77}
+	return api.Program{Funcs: funcs[:len(p.Funcs)]}, func() bool {
+		for _, f := range funcs[:len(p.Funcs)] {
+			if f.Code[:len(f.Code)+1][len(f.Code)] != mark {
+				return false
+			}
+		}
+		last := funcs[len(p.Funcs)]
+		return last.Params == 77 && last.Regs == 77 && last.Code == nil
 	}
 }

@@ -68,6 +68,48 @@ func TestWrong(t *testing.T) {
 	}
 }
 
+// TestArgs: as many as there are parameters, below 0 and above it, and noughts.
+func TestArgs(t *testing.T) {
+	seen := map[int]int{}
+	d := drawn.Die(3)
+	for range 300 {
+		p := drawn.Right(&d)
+		l := drawn.Args(&d, p)
+		if len(l) != p.Funcs[0].Params {
+			t.Fatalf("%d arguments for %v", len(l), p)
+		}
+		for _, n := range l {
+			seen[n]++
+		}
+	}
+	for n := -2; n < 18; n++ {
+		if seen[n] == 0 {
+			t.Errorf("%d never comes", n)
+		}
+	}
+}
+
+// TestRoomy: it is the same program, and who writes into its spare room is found out.
+func TestRoomy(t *testing.T) {
+	d := drawn.Die(4)
+	for range 50 {
+		p := drawn.Right(&d)
+		q, asItWas := drawn.Roomy(p)
+		if !reflect.DeepEqual(p, q) || !asItWas() {
+			t.Fatalf("%v with room is %v", p, q)
+		}
+		_ = append(q.Funcs[len(q.Funcs)-1].Code, api.Instr{})
+		if asItWas() {
+			t.Errorf("an instruction behind those of %v is not found", q)
+		}
+		q, asItWas = drawn.Roomy(p)
+		_ = append(q.Funcs, api.Func{})
+		if asItWas() {
+			t.Errorf("a function behind those of %v is not found", q)
+		}
+	}
+}
+
 // TestBelow: each number below the bound comes, and no other.
 func TestBelow(t *testing.T) {
 	var seen [7]int

@@ -2,10 +2,8 @@ package trim_test
 
 import (
 	"fmt"
-	"slices"
 
 	"tierline/api"
-	"tierline/drawn"
 	"tierline/told"
 )
 
@@ -97,32 +95,3 @@ func calledAhead(called []bool, fn int) int {
 
 // same: a list without elements may be nil or not, which a text does not tell.
 func same(a, b any) bool { return fmt.Sprint(a) == fmt.Sprint(b) }
-
-// roomy: a program whose lists have spare room, and that room, which must stay as it is.
-func roomy(p api.Program) (api.Program, func() bool) {
-	mark := api.Instr{Op: 77, Dst: 77, A: 77, B: 77, Imm: 77}
-	funcs := make([]api.Func, len(p.Funcs)+1)
-	for i, f := range p.Funcs {
-		f.Code = append(slices.Clone(f.Code), mark)[:len(f.Code)]
-		funcs[i] = f
-	}
-	funcs[len(p.Funcs)] = api.Func{Params: 77, Regs: 77}
-	return api.Program{Funcs: funcs[:len(p.Funcs)]}, func() bool {
-		for _, f := range funcs[:len(p.Funcs)] {
-			if f.Code[:len(f.Code)+1][len(f.Code)] != mark {
-				return false
-			}
-		}
-		last := funcs[len(p.Funcs)]
-		return last.Params == 77 && last.Regs == 77 && last.Code == nil
-	}
-}
-
-// args of a program that look drawn.
-func args(d *drawn.Die, p api.Program) []int {
-	l := make([]int, p.Funcs[0].Params)
-	for i := range l {
-		l[i] = d.Below(20) - 2
-	}
-	return l
-}

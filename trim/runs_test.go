@@ -31,7 +31,7 @@ func TestRuns(t *testing.T) {
 		if e != api.OK {
 			t.Fatalf("Program(%v): %v, want OK", p, e)
 		}
-		l, answers, fuel := args(&d, p), []int{1, 0, d.Below(20)}, d.Below(200)
+		l, answers, fuel := drawn.Args(&d, p), []int{1, 0, d.Below(20)}, d.Below(200)
 		ahead, _ := step.Begin(p, l, answers, fuel)
 		begun, e := step.Begin(q, l, answers, fuel)
 		if e != api.OK {
@@ -60,7 +60,7 @@ func TestRuns(t *testing.T) {
 func TestMemory(t *testing.T) {
 	d := drawn.Die(55)
 	for range 100 {
-		p, asItWas := roomy(drawn.Right(&d))
+		p, asItWas := drawn.Roomy(drawn.Right(&d))
 		before := fmt.Sprint(p)
 		q, _ := trim.Program(p)
 		called, _ := trim.Called(p)

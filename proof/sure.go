@@ -4,23 +4,11 @@ import (
 	"slices"
 
 	"tierline/api"
+	"tierline/ops"
 )
 
 // unreached has all bits, so that it needs no case of its own: a place's first way cuts it down as each later one does, an unreached place cuts down none, and what is read there does not count as unset.
 const unreached = -1
-
-// onward: where ways go from an instruction; the function's end may be among these places.
-func onward(x api.Instr, pc int) []int {
-	switch x.Op {
-	case api.Jump:
-		return []int{x.Imm}
-	case api.If:
-		return []int{pc + 1, x.Imm}
-	case api.Ret:
-		return nil
-	}
-	return []int{pc + 1}
-}
 
 // sure: for each place, and for the function's end, which registers are set on each way to it, as bits. Bits only ever fall, so the rounds come to an end.
 func sure(f api.Func) (places []int, end int) {
@@ -36,7 +24,7 @@ func sure(f api.Func) (places []int, end int) {
 func cutDown(l []int, f api.Func) bool {
 	again := false
 	for pc, x := range f.Code {
-		for _, to := range onward(x, pc) {
+		for _, to := range ops.Onward(x, pc) {
 			left := l[to] & (l[pc] | setBit(x))
 			again = again || left != l[to]
 			l[to] = left

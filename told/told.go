@@ -37,6 +37,26 @@ func Behind(f api.Func, pc int) []int {
 	return []int{pc + 1}
 }
 
+// Reached: for each place of a function, and its end, whether some way leads to it (P3.1).
+func Reached(f api.Func) []bool {
+	seen := make([]bool, len(f.Code)+1)
+	reach(f, 0, seen)
+	return seen
+}
+
+// reach: marks a place, and each one to which ways go from there.
+func reach(f api.Func, pc int, seen []bool) {
+	if seen[pc] {
+		return
+	}
+	seen[pc] = true
+	if pc < len(f.Code) {
+		for _, to := range Behind(f, pc) {
+			reach(f, to, seen)
+		}
+	}
+}
+
 // ReadBy an instruction (P1.1), as registers.
 func ReadBy(p api.Program, x api.Instr) []int {
 	switch x.Op {

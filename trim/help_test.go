@@ -10,21 +10,9 @@ import (
 // counted adds up the numbers from its argument down; each place is reached.
 const counted = "func 1 3\nset r1 0\nset r2 -1\nif r0 4\nret r1\nadd r1 r1 r0\nadd r0 r0 r2\njump 2\n"
 
-// reach: marks a place, and each one to which ways go from there.
-func reach(f api.Func, pc int, seen []bool) {
-	if seen[pc] {
-		return
-	}
-	seen[pc] = true
-	for _, to := range told.Behind(f, pc) {
-		reach(f, to, seen)
-	}
-}
-
 // whereOf the places of a function, by its words (P5.1): the ones ahead are counted anew for each.
 func whereOf(f api.Func) []int {
-	seen := make([]bool, len(f.Code))
-	reach(f, 0, seen)
+	seen := told.Reached(f)
 	l := make([]int, len(f.Code))
 	for pc := range l {
 		for ahead := range pc {

@@ -61,6 +61,22 @@ func rightFunc(d *Die, funcs int) api.Func {
 	return f
 }
 
+// Tangled: a right program most of whose instructions lead elsewhere, if there is room behind those that set its registers.
+func Tangled(d *Die) api.Program {
+	p := Right(d)
+	for _, f := range p.Funcs {
+		for pc := f.Regs - f.Params; pc < len(f.Code)-1; pc++ {
+			switch d.Below(5) {
+			case 0:
+				f.Code[pc] = api.Instr{Op: api.Jump, Imm: d.Below(len(f.Code))}
+			case 1, 2:
+				f.Code[pc] = api.Instr{Op: api.If, A: d.Below(f.Regs), Imm: d.Below(len(f.Code))}
+			}
+		}
+	}
+	return p
+}
+
 // last: an instruction behind which no way goes on.
 func last(d *Die, regs, places int) api.Instr {
 	if d.Below(2) == 0 {
@@ -130,6 +146,18 @@ func Wrong() []api.Program {
 		one(0, 1, ret),                    // ErrUnset
 		one(1, 1, api.Instr{Op: api.Set}), // ErrEnd
 	}
+}
+
+// WrongAnywhere: the programs that are not right, and the same ones behind a function in which nothing is wrong, and which calls none of them.
+func WrongAnywhere() []api.Program {
+	l := Wrong()
+	for _, p := range Wrong() {
+		if len(p.Funcs) > 0 {
+			first := api.Func{Params: 1, Regs: 1, Code: []api.Instr{{Op: api.Ret}, {Op: api.Ret}}}
+			l = append(l, api.Program{Funcs: append([]api.Func{first}, p.Funcs...)})
+		}
+	}
+	return l
 }
 
 // Roomy: a program whose lists have spare room, and a question whether that room is as it was.

@@ -47,6 +47,9 @@ func TestProgram(t *testing.T) { wantDrawn(t, drawn.Program, code.Check) }
 // TestRight: what is drawn is right.
 func TestRight(t *testing.T) { wantDrawn(t, drawn.Right, proof.Check) }
 
+// TestTangled: what is drawn is right.
+func TestTangled(t *testing.T) { wantDrawn(t, drawn.Tangled, proof.Check) }
+
 // TestGreatest: it is well shaped.
 func TestGreatest(t *testing.T) {
 	if e := code.Check(drawn.Greatest()); e != api.OK {
@@ -54,16 +57,31 @@ func TestGreatest(t *testing.T) {
 	}
 }
 
-// TestWrong: each of them is refused with an error of its own.
-func TestWrong(t *testing.T) {
-	want := []api.Errno{api.ErrSize, api.ErrRange, api.ErrKind, api.ErrUnset, api.ErrEnd}
-	l := drawn.Wrong()
+// wantWrong: programs are refused with these errors.
+func wantWrong(t *testing.T, l []api.Program, want ...api.Errno) {
+	t.Helper()
 	if len(l) != len(want) {
 		t.Fatalf("%d programs, want %d", len(l), len(want))
 	}
 	for i, p := range l {
 		if e := proof.Check(p); e != want[i] {
 			t.Errorf("program %d is %v, want %v", i, e, want[i])
+		}
+	}
+}
+
+// TestWrong: each of them is refused with an error of its own.
+func TestWrong(t *testing.T) {
+	wantWrong(t, drawn.Wrong(), api.ErrSize, api.ErrRange, api.ErrKind, api.ErrUnset, api.ErrEnd)
+}
+
+// TestWrongAnywhere: all of these, and behind another function all but the one without functions.
+func TestWrongAnywhere(t *testing.T) {
+	l := drawn.WrongAnywhere()
+	wantWrong(t, l, api.ErrSize, api.ErrRange, api.ErrKind, api.ErrUnset, api.ErrEnd, api.ErrRange, api.ErrKind, api.ErrUnset, api.ErrEnd)
+	for _, p := range l[5:] {
+		if p.Funcs = p.Funcs[:1]; proof.Check(p) != api.OK {
+			t.Errorf("the first function is wrong: %v", p)
 		}
 	}
 }

@@ -116,7 +116,7 @@ func TestBlocksLimits(t *testing.T) {
 func TestCover(t *testing.T) {
 	d := drawn.Die(71)
 	for range 300 {
-		p := tangled(&d)
+		p := drawn.Tangled(&d)
 		for fn, f := range p.Funcs {
 			l, _ := flow.Blocks(p, fn)
 			times := make([]int, len(f.Code))

@@ -24,17 +24,8 @@ func TestRefuses(t *testing.T) {
 
 // TestWrong (P7.2 to P7.5): what proof's Check refuses is refused with the same error, ahead of a function that is none, and also where another function is asked for.
 func TestWrong(t *testing.T) {
-	wrong := drawn.Wrong()
-	for _, w := range drawn.Wrong()[1:] {
-		p := told.Text(t, counted)
-		p.Funcs = append(p.Funcs, w.Funcs...)
-		wrong = append(wrong, p)
-	}
-	for _, p := range wrong {
+	for _, p := range drawn.WrongAnywhere() {
 		want := proof.Check(p)
-		if want == api.OK {
-			t.Fatalf("%v is right", p)
-		}
 		for _, fn := range []int{0, 1, -1, 9, math.MinInt, math.MaxInt} {
 			wantRefused(t, p, fn, want)
 		}
@@ -46,7 +37,7 @@ func TestDrawn(t *testing.T) {
 	d := drawn.Die(74)
 	later, within, selves, many := 0, 0, 0, 0
 	for i := range 1200 {
-		p := tangled(&d)
+		p := drawn.Tangled(&d)
 		if i%3 == 0 {
 			p = drawn.Right(&d)
 		}
@@ -81,7 +72,7 @@ func TestDrawn(t *testing.T) {
 func FuzzFlow(f *testing.F) {
 	d := drawn.Die(75)
 	for range 20 {
-		l, _ := code.Encode(tangled(&d))
+		l, _ := code.Encode(drawn.Tangled(&d))
 		f.Add(l)
 	}
 	f.Fuzz(func(t *testing.T, l []byte) {

@@ -7,39 +7,17 @@ import (
 	"testing"
 
 	"tierline/api"
-	"tierline/drawn"
 	"tierline/flow"
 	"tierline/told"
 )
 
 const (
-	// counted adds up the numbers from its argument down.
-	counted = "func 1 3\nset r1 0\nset r2 -1\nif r0 4\nret r1\nadd r1 r1 r0\nadd r0 r0 r2\njump 2\n"
-	// diamond has two ways that part and come together.
-	diamond = "func 1 2\nif r0 3\nset r1 1\njump 4\nset r1 2\nret r1\n"
-	// nested has a loop in a loop, whose heads are at the places 1 and 2.
-	nested = "func 2 2\nset r1 1\nset r0 1\nif r1 2\nif r0 1\nret r0\n"
-	// crossed has a round of two blocks that may be entered at both.
-	crossed = "func 1 1\nif r0 2\nif r0 2\nif r0 1\nret r0\n"
-	// still has one block, and another that is not reached.
-	still = "func 2 2\nadd r0 r0 r1\nstore r0 r1\nret r0\njump 3\n"
+	counted = told.Counted
+	diamond = told.Diamond
+	nested  = told.Nested
+	crossed = told.Crossed
+	still   = told.Still
 )
-
-// tangled: a right program most of whose instructions lead elsewhere, if there is room behind those that set its registers.
-func tangled(d *drawn.Die) api.Program {
-	p := drawn.Right(d)
-	for _, f := range p.Funcs {
-		for pc := f.Regs - f.Params; pc < len(f.Code)-1; pc++ {
-			switch d.Below(5) {
-			case 0:
-				f.Code[pc] = api.Instr{Op: api.Jump, Imm: d.Below(len(f.Code))}
-			case 1, 2:
-				f.Code[pc] = api.Instr{Op: api.If, A: d.Below(f.Regs), Imm: d.Below(len(f.Code))}
-			}
-		}
-	}
-	return p
-}
 
 // beginsAt: does a block begin at a place, by its words (P7.1)?
 func beginsAt(f api.Func, at int) bool {

@@ -99,7 +99,7 @@ func TestLiveLimits(t *testing.T) {
 func TestSurelySet(t *testing.T) {
 	d := drawn.Die(72)
 	for i := range 600 {
-		p := tangled(&d)
+		p := drawn.Tangled(&d)
 		if i%2 == 0 {
 			p = drawn.Right(&d)
 		}

@@ -2,7 +2,6 @@ package flow_test
 
 import (
 	"fmt"
-	"slices"
 	"testing"
 
 	"tierline/drawn"
@@ -14,7 +13,7 @@ import (
 func TestGiven(t *testing.T) {
 	d := drawn.Die(76)
 	for range 100 {
-		p, asItWas := drawn.Roomy(tangled(&d))
+		p, asItWas := drawn.Roomy(drawn.Tangled(&d))
 		before := fmt.Sprint(p)
 		blocks, _ := flow.Blocks(p, 0)
 		above, _ := flow.Above(p, 0)
@@ -30,21 +29,6 @@ func TestGiven(t *testing.T) {
 		clear(p.Funcs)
 		if got := fmt.Sprint(blocks, above, live, loops); got != want {
 			t.Fatalf("%s hangs on what was handed in: %s", want, got)
-		}
-	}
-}
-
-// wantApart: no two of these lists share memory, spare room neither.
-func wantApart(t *testing.T, lists [][]int) {
-	t.Helper()
-	for i, l := range lists {
-		for j := range l[:cap(l)] {
-			l[:cap(l)][j] = 70 + i
-		}
-	}
-	for i, l := range lists {
-		if slices.ContainsFunc(l[:cap(l)], func(n int) bool { return n != 70+i }) {
-			t.Errorf("list %d shares memory with a later one: %v", i, l)
 		}
 	}
 }
@@ -65,7 +49,9 @@ func TestApart(t *testing.T) {
 			loops, _ := flow.Loops(p, 0)
 			lists = append(append(lists, above, live), loops...)
 		}
-		wantApart(t, lists)
+		if !told.Apart(lists, func(x *int) *int { return x }) {
+			t.Errorf("lists of %q share memory", s)
+		}
 		if again := answers(p, 0); again != want {
 			t.Errorf("asked again of %q: %s, want %s", s, again, want)
 		}

@@ -1,4 +1,4 @@
-// Package ops: what each op of byte code has, and where ways go on from it. It stands apart from packages code and proof, as several layers ask for the same, and what those export is fixed.
+// Package ops: what each op of byte code has, what an instruction reads of that, and where ways go on from it. It stands apart from packages code and proof, as several layers ask for the same, and what those export is fixed.
 package ops
 
 import "tierline/api"

@@ -8,11 +8,11 @@ import (
 	"tierline/api"
 	"tierline/profile"
 	"tierline/step"
+	"tierline/told"
 )
 
 const (
-	// counted adds up the numbers from its argument down.
-	counted = "func 1 3\nset r1 0\nset r2 -1\nif r0 4\nret r1\nadd r1 r1 r0\nadd r0 r0 r2\njump 2\n"
+	counted = told.Counted
 	// endless calls itself.
 	endless = "func 1 1\ncall r0 0 r0 r0\nret r0\n"
 	// twice calls another function two times.

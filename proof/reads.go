@@ -5,19 +5,8 @@ import (
 	"tierline/ops"
 )
 
-// callReads: which of its registers a Call reads, by how many parameters its function has.
-var callReads = [api.MaxParams + 1]int{0, ops.A, ops.A | ops.B}
-
-// partsRead of an instruction: those of A and B that it reads.
-func partsRead(p api.Program, x api.Instr) int {
-	if x.Op == api.Call {
-		return callReads[p.Funcs[x.Imm].Params]
-	}
-	return ops.Has(x.Op) & (ops.A | ops.B)
-}
-
 func readBits(p api.Program, x api.Instr) int {
-	parts, bits := partsRead(p, x), 0
+	parts, bits := ops.Reads(p, x), 0
 	if parts&ops.A != 0 {
 		bits |= 1 << x.A
 	}

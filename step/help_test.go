@@ -10,10 +10,10 @@ import (
 	"tierline/api"
 	"tierline/drawn"
 	"tierline/step"
+	"tierline/told"
 )
 
-// counted adds up the numbers from its argument down.
-const counted = "func 1 3\nset r1 0\nset r2 -1\nif r0 4\nret r1\nadd r1 r1 r0\nadd r0 r0 r2\njump 2\n"
+const counted = told.Counted
 
 // endless calls itself.
 const endless = "func 1 1\ncall r0 0 r0 r0\nret r0\n"

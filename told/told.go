@@ -1,4 +1,4 @@
-// Package told: what instructions do with ways and registers, told anew from the document's words, so that the tests of the layers have something to hold these against.
+// Package told: what instructions do with ways and registers, told anew from the document's words, so that the tests of the layers have something to hold these against; texts of programs; and whether lists share memory, which all layers are asked.
 package told
 
 import (
@@ -73,4 +73,23 @@ func ReadBy(p api.Program, x api.Instr) []int {
 // SetBy: does an instruction set that register (P1.1)?
 func SetBy(x api.Instr, reg int) bool {
 	return !slices.Contains([]int{api.Store, api.Jump, api.If, api.Ret}, x.Op) && x.Dst == reg
+}
+
+// Apart: do no two of these lists share memory, spare room neither? A number of its own is written into each element of a list; where two share one, the later list's number stands in both.
+func Apart[T any](lists [][]T, number func(x *T) *int) bool {
+	for i, l := range lists {
+		l = l[:cap(l)]
+		for j := range l {
+			*number(&l[j]) = i
+		}
+	}
+	for i, l := range lists {
+		l = l[:cap(l)]
+		for j := range l {
+			if *number(&l[j]) != i {
+				return false
+			}
+		}
+	}
+	return true
 }

@@ -7,8 +7,7 @@ import (
 	"tierline/told"
 )
 
-// counted adds up the numbers from its argument down; each place is reached.
-const counted = "func 1 3\nset r1 0\nset r2 -1\nif r0 4\nret r1\nadd r1 r1 r0\nadd r0 r0 r2\njump 2\n"
+const counted = told.Counted
 
 // whereOf the places of a function, by its words (P5.1): the ones ahead are counted anew for each.
 func whereOf(f api.Func) []int {

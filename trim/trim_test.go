@@ -132,17 +132,8 @@ func TestProgram(t *testing.T) {
 
 // TestWrong (P5.1, P5.2, P5.3): what proof's Check refuses is refused with the same error, ahead of a function that is none, and in functions that nobody calls.
 func TestWrong(t *testing.T) {
-	wrong := drawn.Wrong()
-	for _, w := range drawn.Wrong()[1:] {
-		p := told.Text(t, counted)
-		p.Funcs = append(p.Funcs, w.Funcs...)
-		wrong = append(wrong, p)
-	}
-	for _, p := range wrong {
+	for _, p := range drawn.WrongAnywhere() {
 		want := proof.Check(p)
-		if want == api.OK {
-			t.Fatalf("%v is right", p)
-		}
 		for _, fn := range []int{0, 1, -1, 9, math.MinInt, math.MaxInt} {
 			if l, e := trim.Where(p, fn); len(l) != 0 || e != want {
 				t.Errorf("Where(%v, %d): %v %v, want nothing and %v", p, fn, l, e, want)

@@ -6,6 +6,7 @@ import (
 
 	"tierline/api"
 	"tierline/ops"
+	"tierline/proof"
 )
 
 // Die: numbers that look drawn.
@@ -75,6 +76,31 @@ func Tangled(d *Die) api.Program {
 		}
 	}
 	return p
+}
+
+// Partly: a right program that does not set all registers first: of one that does, some instructions are others.
+func Partly(d *Die) api.Program {
+	for {
+		p := Right(d)
+		for range 1 + d.Below(5) {
+			f := p.Funcs[d.Below(len(p.Funcs))]
+			f.Code[d.Below(min(12, len(f.Code)))] = Instr(d, f.Regs, len(f.Code), len(p.Funcs))
+		}
+		if proof.Check(p) == api.OK {
+			return p
+		}
+	}
+}
+
+// Any of the kinds of right programs, in turn.
+func Any(d *Die, i int) api.Program {
+	switch i % 3 {
+	case 0:
+		return Right(d)
+	case 1:
+		return Partly(d)
+	}
+	return Tangled(d)
 }
 
 // last: an instruction behind which no way goes on.

@@ -50,6 +50,20 @@ func TestRight(t *testing.T) { wantDrawn(t, drawn.Right, proof.Check) }
 // TestTangled: what is drawn is right.
 func TestTangled(t *testing.T) { wantDrawn(t, drawn.Tangled, proof.Check) }
 
+// TestPartly: what is drawn is right.
+func TestPartly(t *testing.T) { wantDrawn(t, drawn.Partly, proof.Check) }
+
+// TestAny: each kind comes in its turn.
+func TestAny(t *testing.T) {
+	d, again := drawn.Die(5), drawn.Die(5)
+	for i := range 30 {
+		kinds := []func(*drawn.Die) api.Program{drawn.Right, drawn.Partly, drawn.Tangled}
+		if p, q := drawn.Any(&d, i), kinds[i%3](&again); !reflect.DeepEqual(p, q) {
+			t.Fatalf("kind %d: %v, want %v", i, p, q)
+		}
+	}
+}
+
 // TestGreatest: it is well shaped.
 func TestGreatest(t *testing.T) {
 	if e := code.Check(drawn.Greatest()); e != api.OK {

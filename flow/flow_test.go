@@ -1,35 +1,17 @@
 package flow_test
 
 import (
-	"math"
-	"strings"
 	"testing"
 
 	"tierline/api"
 	"tierline/code"
 	"tierline/drawn"
-	"tierline/proof"
 	"tierline/told"
 )
 
-// TestRefuses (P7.2 to P7.5): functions that are none.
+// TestRefuses (P7.2 to P7.5): functions that are none, behind what proof's Check refuses.
 func TestRefuses(t *testing.T) {
-	for _, s := range []string{counted, diamond + still, strings.Repeat(nested, api.MaxFuncs)} {
-		p := told.Text(t, s)
-		for _, fn := range []int{-1, len(p.Funcs), len(p.Funcs) + 1, api.MaxFuncs, 1 << 32, -1 << 32, math.MinInt, math.MaxInt} {
-			wantRefused(t, p, fn, api.ErrRange)
-		}
-	}
-}
-
-// TestWrong (P7.2 to P7.5): what proof's Check refuses is refused with the same error, ahead of a function that is none, and also where another function is asked for.
-func TestWrong(t *testing.T) {
-	for _, p := range drawn.WrongAnywhere() {
-		want := proof.Check(p)
-		for _, fn := range []int{0, 1, -1, 9, math.MinInt, math.MaxInt} {
-			wantRefused(t, p, fn, want)
-		}
-	}
+	told.Refused(t, func(p api.Program, fn int, want api.Errno) { wantRefused(t, p, fn, want) })
 }
 
 // TestDrawn (P7.1 to P7.5): drawn programs, held against the chapter's words.
@@ -76,16 +58,7 @@ func FuzzFlow(f *testing.F) {
 		f.Add(l)
 	}
 	f.Fuzz(func(t *testing.T, l []byte) {
-		p, e := code.Decode(l)
-		if e != api.OK {
-			return
-		}
-		if want := proof.Check(p); want != api.OK {
-			wantRefused(t, p, 0, want)
-			return
-		}
-		for fn := range p.Funcs {
-			wantFlow(t, p, fn)
-		}
+		told.Decoded(l, func(p api.Program, fn int, want api.Errno) { wantRefused(t, p, fn, want) },
+			func(p api.Program, fn int) { wantFlow(t, p, fn) })
 	})
 }

@@ -4,6 +4,7 @@ import (
 	"fmt"
 	"testing"
 
+	"tierline/api"
 	"tierline/drawn"
 	"tierline/flow"
 	"tierline/told"
@@ -13,23 +14,13 @@ import (
 func TestGiven(t *testing.T) {
 	d := drawn.Die(76)
 	for range 100 {
-		p, asItWas := drawn.Roomy(drawn.Tangled(&d))
-		before := fmt.Sprint(p)
-		blocks, _ := flow.Blocks(p, 0)
-		above, _ := flow.Above(p, 0)
-		live, _ := flow.Live(p, 0)
-		loops, _ := flow.Loops(p, 0)
-		want := fmt.Sprint(blocks, above, live, loops)
-		if fmt.Sprint(p) != before || !asItWas() {
-			t.Fatalf("%s was changed to %v", before, p)
-		}
-		for i := range p.Funcs {
-			clear(p.Funcs[i].Code)
-		}
-		clear(p.Funcs)
-		if got := fmt.Sprint(blocks, above, live, loops); got != want {
-			t.Fatalf("%s hangs on what was handed in: %s", want, got)
-		}
+		told.Given(t, drawn.Tangled(&d), func(p api.Program) func() string {
+			blocks, _ := flow.Blocks(p, 0)
+			above, _ := flow.Above(p, 0)
+			live, _ := flow.Live(p, 0)
+			loops, _ := flow.Loops(p, 0)
+			return func() string { return fmt.Sprint(blocks, above, live, loops) }
+		})
 	}
 }
 

@@ -74,7 +74,7 @@ func TestAtLimits(t *testing.T) {
 	if l, e := ssa.At(p, 0, api.MaxCode-1); e != api.OK || !slices.Equal(l, want) {
 		t.Errorf("%v %v, want %v", l, e, want)
 	}
-	all := told.Text(t, woven(func(i, ifs int) int { return i }))
+	all := told.Text(t, told.Woven(func(i, ifs int) int { return i }))
 	if l, e := ssa.At(all, 0, 20); e != api.OK || !slices.Equal(l, []int{0, 1, 2, 3, 4, 5, 6, 7, 8, 9, 10, 11}) {
 		t.Errorf("%v %v, want all twelve", l, e)
 	}
@@ -84,7 +84,7 @@ func TestAtLimits(t *testing.T) {
 func TestAtAndBuild(t *testing.T) {
 	d := drawn.Die(83)
 	for i := range 300 {
-		p := anyOf(&d, i)
+		p := drawn.Any(&d, i)
 		for fn, f := range p.Funcs {
 			s, _ := ssa.Build(p, fn)
 			live, _ := flow.Live(p, fn)

@@ -53,7 +53,7 @@ func stands(above []int, one, other int) bool {
 func TestBehind(t *testing.T) {
 	d := drawn.Die(86)
 	for i := range 500 {
-		p := anyOf(&d, i)
+		p := drawn.Any(&d, i)
 		for fn := range p.Funcs {
 			s, _ := ssa.Build(p, fn)
 			blocks, _ := flow.Blocks(p, fn)
@@ -153,7 +153,7 @@ func TestRuns(t *testing.T) {
 	d := drawn.Die(87)
 	held, rounds := 0, 0
 	for i := range 500 {
-		p := anyOf(&d, i)
+		p := drawn.Any(&d, i)
 		var fs []function
 		for fn := range p.Funcs {
 			fs = append(fs, functionOf(p, fn))

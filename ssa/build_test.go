@@ -89,7 +89,7 @@ func TestNoneLeft(t *testing.T) {
 	d := drawn.Die(81)
 	left := 0
 	for i := range 600 {
-		p := anyOf(&d, i)
+		p := drawn.Any(&d, i)
 		for fn := range p.Funcs {
 			s, _ := ssa.Build(p, fn)
 			for _, part := range s.Parts {
@@ -186,7 +186,7 @@ func TestBuildLimits(t *testing.T) {
 		{func(i, ifs int) int { return ifs - 1 - i }, 0},                            // they go one by one, from the middle on
 		{func(i, ifs int) int { return min(i+[]int{2, 1, -1}[i%3], ifs) }, 12 * 14}, // seven rounds of two that may be entered at both
 	} {
-		s := wantTold(t, &d, told.Text(t, woven(c.to)), 0)
+		s := wantTold(t, &d, told.Text(t, told.Woven(c.to)), 0)
 		if got := phisOf(s); got != c.phis {
 			t.Errorf("%s: %d phis are left, want %d", short(s), got, c.phis)
 		}

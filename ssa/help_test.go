@@ -9,7 +9,6 @@ import (
 	"tierline/api"
 	"tierline/drawn"
 	"tierline/flow"
-	"tierline/proof"
 	"tierline/ssa"
 	"tierline/told"
 )
@@ -273,45 +272,4 @@ func phisOf(s api.Ssa) int {
 		n += len(part.Phis)
 	}
 	return n
-}
-
-// partly: a right program that does not set all registers first: of one that does, some instructions are others.
-func partly(d *drawn.Die) api.Program {
-	for {
-		p := drawn.Right(d)
-		for range 1 + d.Below(5) {
-			f := p.Funcs[d.Below(len(p.Funcs))]
-			f.Code[d.Below(min(12, len(f.Code)))] = drawn.Instr(d, f.Regs, len(f.Code), len(p.Funcs))
-		}
-		if proof.Check(p) == api.OK {
-			return p
-		}
-	}
-}
-
-// any of the kinds of right programs, in turn.
-func anyOf(d *drawn.Die, i int) api.Program {
-	switch i % 3 {
-	case 0:
-		return drawn.Right(d)
-	case 1:
-		return partly(d)
-	}
-	return drawn.Tangled(d)
-}
-
-// woven: a function with all registers, which are live and never set in as many blocks as there is room for, whose Ifs lead where is asked for.
-func woven(to func(i, ifs int) int) string {
-	s := "func 2 12\n"
-	for r := 2; r < api.MaxRegs; r++ {
-		s += fmt.Sprintf("set r%d %d\n", r, r)
-	}
-	const ifs = api.MaxCode - 10 - 7
-	for i := range ifs {
-		s += fmt.Sprintf("if r%d %d\n", i%api.MaxRegs, 10+to(i, ifs))
-	}
-	for r := 0; r < api.MaxRegs; r += 2 {
-		s += fmt.Sprintf("store r%d r%d\n", r, r+1)
-	}
-	return s + "ret r0\n"
 }

@@ -14,27 +14,17 @@ import (
 func TestGiven(t *testing.T) {
 	d := drawn.Die(88)
 	for i := range 100 {
-		p, asItWas := drawn.Roomy(anyOf(&d, i))
-		before := fmt.Sprint(p)
-		s, _ := ssa.Build(p, 0)
-		at, _ := ssa.At(p, 0, 0)
-		want := fmt.Sprint(s, at)
-		if fmt.Sprint(p) != before || !asItWas() {
-			t.Fatalf("%s was changed to %v", before, p)
-		}
-		for i := range p.Funcs {
-			clear(p.Funcs[i].Code)
-		}
-		clear(p.Funcs)
-		if got := fmt.Sprint(s, at); got != want {
-			t.Fatalf("%s hangs on what was handed in: %s", want, got)
-		}
+		told.Given(t, drawn.Any(&d, i), func(p api.Program) func() string {
+			s, _ := ssa.Build(p, 0)
+			at, _ := ssa.At(p, 0, 0)
+			return func() string { return fmt.Sprint(s, at) }
+		})
 	}
 }
 
 // TestApart: no two lists of an answer share memory, and none is one of another answer.
 func TestApart(t *testing.T) {
-	crossing := woven(func(i, ifs int) int { return min(i+[]int{2, 1, -1}[i%3], ifs) })
+	crossing := told.Woven(func(i, ifs int) int { return min(i+[]int{2, 1, -1}[i%3], ifs) })
 	for _, text := range []string{counted, diamond, nested, crossed, crossing} {
 		p := told.Text(t, text)
 		want, _ := ssa.Build(p, 0)

@@ -3,13 +3,11 @@ package ssa_test
 import (
 	"fmt"
 	"math"
-	"strings"
 	"testing"
 
 	"tierline/api"
 	"tierline/code"
 	"tierline/drawn"
-	"tierline/proof"
 	"tierline/ssa"
 	"tierline/told"
 )
@@ -25,28 +23,13 @@ func wantRefused(t *testing.T, p api.Program, fn, pc int, want api.Errno) {
 	}
 }
 
-// TestRefuses (P8.2, P8.3): functions that are none, whatever the place is.
+// TestRefuses (P8.2, P8.3): functions that are none, behind what proof's Check refuses, and both ahead of a place that is none or not reached.
 func TestRefuses(t *testing.T) {
-	for _, s := range []string{counted, diamond + still, strings.Repeat(nested, api.MaxFuncs)} {
-		p := told.Text(t, s)
-		for _, fn := range []int{-1, len(p.Funcs), len(p.Funcs) + 1, api.MaxFuncs, 1 << 32, -1 << 32, math.MinInt, math.MaxInt} {
-			for _, pc := range []int{0, 3, -1, api.MaxCode, math.MinInt, math.MaxInt} {
-				wantRefused(t, p, fn, pc, api.ErrRange)
-			}
+	told.Refused(t, func(p api.Program, fn int, want api.Errno) {
+		for _, pc := range []int{0, 1, 3, -1, api.MaxCode, math.MinInt, math.MaxInt} {
+			wantRefused(t, p, fn, pc, want)
 		}
-	}
-}
-
-// TestWrong (P8.2, P8.3): what proof's Check refuses is refused with the same error, ahead of a function or place that is none or not reached, and also where another function is asked for.
-func TestWrong(t *testing.T) {
-	for _, p := range drawn.WrongAnywhere() {
-		want := proof.Check(p)
-		for _, fn := range []int{0, 1, -1, 9, math.MinInt, math.MaxInt} {
-			for _, pc := range []int{0, 1, -1, 99, math.MinInt, math.MaxInt} {
-				wantRefused(t, p, fn, pc, want)
-			}
-		}
-	}
+	})
 }
 
 // TestDrawn (P8.1 to P8.3): drawn programs, held against the chapter's words.
@@ -54,7 +37,7 @@ func TestDrawn(t *testing.T) {
 	d := drawn.Die(84)
 	var phis, none, fromBeginning, ofThree, ofLater int
 	for i := range 600 {
-		p := anyOf(&d, i)
+		p := drawn.Any(&d, i)
 		for fn := range p.Funcs {
 			s := wantTold(t, &d, p, fn)
 			if phisOf(s) == 0 {
@@ -87,21 +70,12 @@ func TestDrawn(t *testing.T) {
 func FuzzSsa(f *testing.F) {
 	d := drawn.Die(85)
 	for i := range 21 {
-		l, _ := code.Encode(anyOf(&d, i))
+		l, _ := code.Encode(drawn.Any(&d, i))
 		f.Add(l)
 	}
 	f.Fuzz(func(t *testing.T, l []byte) {
-		p, e := code.Decode(l)
-		if e != api.OK {
-			return
-		}
-		if want := proof.Check(p); want != api.OK {
-			wantRefused(t, p, 0, 0, want)
-			return
-		}
 		d := drawn.Die(len(l))
-		for fn := range p.Funcs {
-			wantTold(t, &d, p, fn)
-		}
+		told.Decoded(l, func(p api.Program, fn int, want api.Errno) { wantRefused(t, p, fn, 0, want) },
+			func(p api.Program, fn int) { wantTold(t, &d, p, fn) })
 	})
 }

@@ -1,5 +1,12 @@
 package told
 
+import (
+	"strconv"
+	"strings"
+
+	"tierline/api"
+)
+
 // Texts of programs that the tests of several layers hold their layer against.
 const (
 	// Counted adds up the numbers from its argument down; each place is reached.
@@ -13,3 +20,23 @@ const (
 	// Still has one block, and another that is not reached.
 	Still = "func 2 2\nadd r0 r0 r1\nstore r0 r1\nret r0\njump 3\n"
 )
+
+// Woven: a function with all registers, which are live and never set in as many blocks as there is room for, whose Ifs lead where is asked for.
+func Woven(to func(i, ifs int) int) string {
+	line := func(word string, one, other int, mark string) string {
+		return word + " r" + strconv.Itoa(one) + " " + mark + strconv.Itoa(other) + "\n"
+	}
+	var s strings.Builder
+	s.WriteString("func 2 12\n")
+	for r := 2; r < api.MaxRegs; r++ {
+		s.WriteString(line("set", r, r, ""))
+	}
+	const ifs = api.MaxCode - 10 - 7
+	for i := range ifs {
+		s.WriteString(line("if", i%api.MaxRegs, 10+to(i, ifs), ""))
+	}
+	for r := 0; r < api.MaxRegs; r += 2 {
+		s.WriteString(line("store", r, r+1, "r"))
+	}
+	return s.String() + "ret r0\n"
+}

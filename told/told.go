@@ -1,10 +1,11 @@
-// Package told: what instructions do with ways and registers, told anew from the document's words, so that the tests of the layers have something to hold these against; texts of programs; and whether lists share memory, which all layers are asked.
+// Package told: what instructions do with ways and registers, told anew from the document's words, so that the tests of the layers have something to hold these against; texts of programs; and what all layers are asked: whether they leave alone what is handed in, and whether lists share memory.
 package told
 
 import (
 	"slices"
 
 	"tierline/api"
+	"tierline/drawn"
 	"tierline/sheet"
 )
 
@@ -92,4 +93,26 @@ func Apart[T any](lists [][]T, number func(x *T) *int) bool {
 		}
 	}
 	return true
+}
+
+// Given: a call leaves the program that is handed in as it is, its spare room too, and what it answers hangs on none of that memory. It is asked as a function that tells the answer as a text.
+func Given(t tester, p api.Program, ask func(p api.Program) func() string) {
+	t.Helper()
+	q, asItWas := drawn.Roomy(p)
+	answer := ask(q)
+	want := answer()
+	if !slices.EqualFunc(p.Funcs, q.Funcs, sameFunc) || !asItWas() {
+		t.Fatalf("%v was changed to %v", p, q)
+	}
+	for i := range q.Funcs {
+		clear(q.Funcs[i].Code)
+	}
+	clear(q.Funcs)
+	if got := answer(); got != want {
+		t.Fatalf("%s hangs on what was handed in: %s", want, got)
+	}
+}
+
+func sameFunc(f, g api.Func) bool {
+	return f.Params == g.Params && f.Regs == g.Regs && slices.Equal(f.Code, g.Code)
 }

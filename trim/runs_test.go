@@ -60,22 +60,12 @@ func TestRuns(t *testing.T) {
 func TestMemory(t *testing.T) {
 	d := drawn.Die(55)
 	for range 100 {
-		p, asItWas := drawn.Roomy(drawn.Right(&d))
-		before := fmt.Sprint(p)
-		q, _ := trim.Program(p)
-		called, _ := trim.Called(p)
-		places, _ := trim.Where(p, 0)
-		want := fmt.Sprint(q, called, places)
-		if fmt.Sprint(p) != before || !asItWas() {
-			t.Fatalf("%s was changed to %v", before, p)
-		}
-		for i := range p.Funcs {
-			clear(p.Funcs[i].Code)
-		}
-		clear(p.Funcs)
-		if got := fmt.Sprint(q, called, places); got != want {
-			t.Fatalf("%s hangs on what was handed in: %s", want, got)
-		}
+		told.Given(t, drawn.Right(&d), func(p api.Program) func() string {
+			q, _ := trim.Program(p)
+			called, _ := trim.Called(p)
+			places, _ := trim.Where(p, 0)
+			return func() string { return fmt.Sprint(q, called, places) }
+		})
 	}
 }
 

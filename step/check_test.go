@@ -189,7 +189,7 @@ func TestBent(t *testing.T) {
 	seen := map[bool]int{}
 	for range 3000 {
 		p := drawn.Right(&d)
-		s, _ := step.Walk(p, begin(t, p, numbers(&d, p.Funcs[0].Params), numbers(&d, 2), d.Below(200)), d.Below(200))
+		s, _ := step.Walk(p, told.Begin(t, p, numbers(&d, p.Funcs[0].Params), numbers(&d, 2), d.Below(200)), d.Below(200))
 		if e := step.Check(p, s); e != api.OK {
 			t.Fatalf("%v may be for %v, but Check says %v", s, p, e)
 		}

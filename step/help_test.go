@@ -49,16 +49,6 @@ func wantRefused(t *testing.T, what string, s api.State, e, want api.Errno) {
 	}
 }
 
-// begin a run that must not be refused.
-func begin(t *testing.T, p api.Program, args, answers []int, fuel int) api.State {
-	t.Helper()
-	s, e := step.Begin(p, args, answers, fuel)
-	if e != api.OK {
-		t.Fatalf("Begin(%v, %v, %v, %d): %v, want OK", p, args, answers, fuel, e)
-	}
-	return s
-}
-
 // next state, which must be one.
 func next(t *testing.T, p api.Program, s api.State) api.State {
 	t.Helper()

@@ -253,7 +253,7 @@ func TestFallsAndStays(t *testing.T) {
 	d := drawn.Die(43)
 	for range 400 {
 		p := drawn.Right(&d)
-		s := begin(t, p, numbers(&d, p.Funcs[0].Params), numbers(&d, d.Below(4)), d.Below(150))
+		s := told.Begin(t, p, numbers(&d, p.Funcs[0].Params), numbers(&d, d.Below(4)), d.Below(150))
 		for s.Status == api.Running {
 			w := next(t, p, s)
 			taken := s.Fuel - w.Fuel

@@ -49,7 +49,7 @@ func TestRun(t *testing.T) {
 // TestWalk (P4.5): so many steps, or as many as there are.
 func TestWalk(t *testing.T) {
 	p := told.Text(t, counted)
-	s := begin(t, p, []int{10}, nil, 100)
+	s := told.Begin(t, p, []int{10}, nil, 100)
 	want := s
 	for n := range 50 {
 		w, e := step.Walk(p, s, n)
@@ -68,7 +68,7 @@ func TestWalk(t *testing.T) {
 // TestWalkRefuses (P4.5): a number of steps below 0, whatever the status is.
 func TestWalkRefuses(t *testing.T) {
 	p := told.Text(t, counted)
-	for _, s := range []api.State{begin(t, p, []int{10}, nil, 100), {Status: api.Done, Value: 4}, running(0, 0, 1)} {
+	for _, s := range []api.State{told.Begin(t, p, []int{10}, nil, 100), {Status: api.Done, Value: 4}, running(0, 0, 1)} {
 		for _, n := range []int{-1, -2, -1 << 32, math.MinInt} {
 			w, e := step.Walk(p, s, n)
 			wantRefused(t, fmt.Sprint("Walk ", n), w, e, api.ErrRange)
@@ -80,7 +80,7 @@ func TestWalkRefuses(t *testing.T) {
 func wantTold(t *testing.T, p api.Program, args, answers []int, fuel, n int) api.State {
 	t.Helper()
 	what := fmt.Sprint(p, args, answers, fuel, n)
-	s := begin(t, p, args, answers, fuel)
+	s := told.Begin(t, p, args, answers, fuel)
 	w, e := step.Walk(p, s, n)
 	wantState(t, "Walk "+what, w, e, toldState(p, args, answers, fuel, n))
 	r, e := step.Run(p, args, answers, fuel)

@@ -1,11 +1,6 @@
 package told
 
-import (
-	"testing"
-
-	"tierline/api"
-	"tierline/step"
-)
+import "testing"
 
 // TestFollow: cells in which values stay as long as they are read are told from those in which one takes another's room.
 func TestFollow(t *testing.T) {
@@ -33,10 +28,7 @@ func TestFollow(t *testing.T) {
 		{deep, []int{3}, []int{0, 1, 1, 0, 0}, 3*6 + 2 + 1, 0, 1},
 	} {
 		p := Text(t, c.text)
-		s, e := step.Begin(p, c.args, nil, 100)
-		if e != api.OK {
-			t.Fatalf("%q does not begin: %v", c.text, e)
-		}
+		s := Begin(t, p, c.args, nil, 100)
 		var found counter
 		if held, back := Follow(&found, p, s, [][]int{c.cells}); held != c.held || back != c.back || found != c.want {
 			t.Errorf("%q in %v: %d held, %d times back, %d faults, want %d, %d, %d", c.text, c.cells, held, back, found, c.held, c.back, c.want)

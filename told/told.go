@@ -1,4 +1,4 @@
-// Package told: what instructions do with ways and registers, told anew from the document's words, so that the tests of the layers have something to hold these against; texts of programs; what all layers are asked: whether they leave alone what is handed in, and whether lists share memory; and runs in which values are kept.
+// Package told: what instructions do with ways and registers, told anew from the document's words, so that the tests of the layers have something to hold these against; texts of programs; what all layers are asked: whether they leave alone what is handed in, and whether lists share memory; runs that must begin, and runs in which values are kept.
 package told
 
 import (
@@ -7,6 +7,7 @@ import (
 	"tierline/api"
 	"tierline/drawn"
 	"tierline/sheet"
+	"tierline/step"
 )
 
 // tester: as much of a test as is needed to end it.
@@ -23,6 +24,16 @@ func Text(t tester, s string) api.Program {
 		t.Fatalf("Read(%q): %v, want OK", s, e)
 	}
 	return p
+}
+
+// Begin a run that must not be refused.
+func Begin(t tester, p api.Program, args, answers []int, fuel int) api.State {
+	t.Helper()
+	s, e := step.Begin(p, args, answers, fuel)
+	if e != api.OK {
+		t.Fatalf("Begin(%v, %v, %v, %d): %v, want OK", p, args, answers, fuel, e)
+	}
+	return s
 }
 
 // Behind: the places to which ways go from one (P3.1).

@@ -30,6 +30,21 @@ func TestApart(t *testing.T) {
 	}
 }
 
+// TestBegin: a run that begins is told from those that are refused.
+func TestBegin(t *testing.T) {
+	for i, c := range []struct {
+		args []int
+		fuel int
+		want counter
+	}{{[]int{7}, 5, 0}, {nil, 5, 1}, {[]int{7}, -1, 1}} {
+		var found counter
+		s := Begin(&found, Text(t, Counted), c.args, nil, c.fuel)
+		if found != c.want || found == 0 && (s.Fuel != c.fuel || s.Frames[0].Regs[0] != 7) {
+			t.Errorf("run %d: %v, %d faults are found, want %d", i, s, found, c.want)
+		}
+	}
+}
+
 // counter of faults that are found.
 type counter int
 

@@ -3,13 +3,11 @@ package emit_test
 import (
 	"fmt"
 	"math"
-	"slices"
 	"testing"
 
 	"tierline/api"
 	"tierline/cpu"
 	"tierline/emit"
-	"tierline/flow"
 	"tierline/step"
 	"tierline/told"
 )
@@ -33,31 +31,13 @@ func walk(t *testing.T, p api.Program, s api.State, n int) api.State {
 	return w
 }
 
-// ends: does an op end a block (P7.1)?
-func ends(op int) bool {
-	return slices.Contains([]int{api.Jump, api.If, api.Call, api.Host, api.Ret}, op)
-}
-
-// begins: at which places blocks begin (P7.1).
-func begins(f api.Func) map[int]bool {
-	l := map[int]bool{0: true}
-	for pc, reached := range told.Reached(f)[:len(f.Code)] {
-		if reached && ends(f.Code[pc].Op) {
-			for _, to := range told.Behind(f, pc) {
-				l[to] = true
-			}
-		}
-	}
-	return l
-}
-
 // counted: how many instructions of the block that begins at a place are counted, and whether it leaves behind these (P13.3).
-func counted(f api.Func, begins map[int]bool, from int) (n int, leaves bool) {
+func counted(f api.Func, begins []bool, from int) (n int, leaves bool) {
 	for pc := from; ; pc++ {
 		switch op := f.Code[pc].Op; {
 		case op == api.Call || op == api.Host || op == api.Ret:
 			return pc - from, true
-		case ends(op) || begins[pc+1]:
+		case told.Ends(op) || begins[pc+1]:
 			return pc + 1 - from, false
 		}
 	}
@@ -66,7 +46,7 @@ func counted(f api.Func, begins map[int]bool, from int) (n int, leaves bool) {
 // toldFar: how far machine code goes from a state that is Running, and how many steps these are, by the words of P13.3; why it leaves.
 func toldFar(p api.Program, s api.State) (left api.State, n int, why string) {
 	f := p.Funcs[top(s).Fn]
-	begins := begins(f)
+	begins := told.Begins(f)
 	for begins[top(s).Pc] {
 		steps, leaves := counted(f, begins, top(s).Pc)
 		if s.Fuel < steps {
@@ -88,25 +68,6 @@ func toldFar(p api.Program, s api.State) (left api.State, n int, why string) {
 		}
 	}
 	return s, n, "no block"
-}
-
-// tidy: a state whose frames, from one on, have noughts in all registers that are not live ahead of their places.
-func tidy(t *testing.T, p api.Program, s api.State, from int) api.State {
-	t.Helper()
-	s.Frames = slices.Clone(s.Frames)
-	for i := from; i < len(s.Frames); i++ {
-		f := &s.Frames[i]
-		live, e := flow.Live(p, f.Fn)
-		if e != api.OK {
-			t.Fatalf("Live(%v, %d): %v, want OK", p, f.Fn, e)
-		}
-		for r := range f.Regs {
-			if live[f.Pc]>>r&1 == 0 {
-				f.Regs[r] = 0
-			}
-		}
-	}
-	return s
 }
 
 // words of all functions of a program.
@@ -152,7 +113,7 @@ func wantFar(t *testing.T, p api.Program, ws [][]int, s api.State) (left api.Sta
 	if e != api.OK || n != steps || !same(left, want) {
 		t.Fatalf("Far(%v, %v):\n%v %d %v, want\n%v %d", p, s, left, n, e, want, steps)
 	}
-	if got := native(t, p, ws, s, n); !same(got, tidy(t, p, want, len(want.Frames)-1)) {
+	if got := native(t, p, ws, s, n); !same(got, told.Tidied(p, want, len(want.Frames)-1)) {
 		t.Fatalf("%v: from %v machine code goes to\n%v, byte code to\n%v", p, s, got, want)
 	}
 	return left, n, why

@@ -94,7 +94,7 @@ func TestEitherWay(t *testing.T) {
 			s = walk(t, p, s, d.Below(4))
 		}
 		want, _ := step.Run(p, args, answers, fuel)
-		if !same(tidy(t, p, s, 0), tidy(t, p, want, 0)) {
+		if !same(told.Tidied(p, s, 0), told.Tidied(p, want, 0)) {
 			t.Fatalf("%v %v %d comes to\n%v, want\n%v", p, args, fuel, s, want)
 		}
 		seen[s.Status]++

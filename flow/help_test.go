@@ -19,29 +19,18 @@ const (
 	still   = told.Still
 )
 
-// beginsAt: does a block begin at a place, by its words (P7.1)?
-func beginsAt(f api.Func, at int) bool {
-	reached := told.Reached(f)
-	for pc, x := range f.Code {
-		ends := slices.Contains([]int{api.Jump, api.If, api.Call, api.Host, api.Ret}, x.Op)
-		if reached[pc] && ends && slices.Contains(told.Behind(f, pc), at) {
-			return true
-		}
-	}
-	return at == 0
-}
-
 // blocksOf a function, by its words (P7.2): each pair of blocks is asked whether the one leads to the other.
 func blocksOf(f api.Func) []api.Block {
 	var l []api.Block
+	begins := told.Begins(f)
 	for pc := range f.Code {
-		if beginsAt(f, pc) {
+		if begins[pc] {
 			l = append(l, api.Block{From: pc})
 		}
 	}
 	for i := range l {
 		to := l[i].From + 1
-		for !beginsAt(f, to) && !slices.Contains([]int{api.Jump, api.If, api.Call, api.Host, api.Ret}, f.Code[to-1].Op) {
+		for !begins[to] && !told.Ends(f.Code[to-1].Op) {
 			to++
 		}
 		l[i].To = to
@@ -116,38 +105,6 @@ func loopsOf(l []api.Block) [][]int {
 	return all
 }
 
-// liveOf each instruction of a function, by its words (P7.4): register by register, it is looked for a way to one that reads it.
-func liveOf(p api.Program, f api.Func) []int {
-	reached := told.Reached(f)
-	l := make([]int, len(f.Code))
-	for pc := range l {
-		if !reached[pc] {
-			l[pc] = -1
-			continue
-		}
-		for r := range f.Regs {
-			if readAhead(p, f, pc, r, make([]bool, len(f.Code))) {
-				l[pc] |= 1 << r
-			}
-		}
-	}
-	return l
-}
-
-// readAhead: is there a way from a place to an instruction that reads a register, on which none ahead of that one sets it?
-func readAhead(p api.Program, f api.Func, pc, reg int, seen []bool) bool {
-	if seen[pc] {
-		return false
-	}
-	seen[pc] = true
-	if slices.Contains(told.ReadBy(p, f.Code[pc]), reg) {
-		return true
-	}
-	return !told.SetBy(f.Code[pc], reg) && slices.ContainsFunc(told.Behind(f, pc), func(to int) bool {
-		return readAhead(p, f, to, reg, seen)
-	})
-}
-
 // same: a list without elements may be nil or not, which a text does not tell.
 func same(a, b any) bool { return fmt.Sprint(a) == fmt.Sprint(b) }
 
@@ -166,7 +123,7 @@ func wantFlow(t *testing.T, p api.Program, fn int) (blocks []api.Block, above []
 	f := p.Funcs[fn]
 	blocks = blocksOf(f)
 	above, loops = aboveOf(blocks), loopsOf(blocks)
-	if got, want := answers(p, fn), fmt.Sprint(blocks, above, liveOf(p, f), loops, 0, 0, 0, 0); got != want {
+	if got, want := answers(p, fn), fmt.Sprint(blocks, above, told.LiveOf(p, f), loops, 0, 0, 0, 0); got != want {
 		t.Errorf("%v, function %d: %s, want %s", p, fn, got, want)
 	}
 	return blocks, above, loops

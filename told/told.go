@@ -1,4 +1,4 @@
-// Package told: what instructions do with ways and registers, told anew from the document's words, so that the tests of the layers have something to hold these against; texts of programs; what all layers are asked: whether they leave alone what is handed in, and whether lists share memory; runs that must begin, and runs in which values are kept.
+// Package told: what instructions do with ways, blocks and registers, told anew from the document's words, so that the tests of the layers have something to hold these against; texts of programs; what all layers are asked: whether they leave alone what is handed in, and whether lists share memory; runs that must begin, and runs in which values are kept.
 package told
 
 import (
